@@ -8,22 +8,8 @@ import (
 
 	"larder/api"
 	"larder/debver"
+	"larder/samples"
 )
-
-// smallTexts tells all texts of at most so many letters of an alphabet.
-func smallTexts(alphabet string, most int) []string {
-	all := []string{""}
-	for from := 0; most > 0; most-- {
-		end := len(all)
-		for _, s := range all[from:end] {
-			for i := range len(alphabet) {
-				all = append(all, s+alphabet[i:i+1])
-			}
-		}
-		from = end
-	}
-	return all
-}
 
 func TestParseTakesApart(t *testing.T) { // P1.1, example 1
 	for s, want := range map[string]api.Version{
@@ -106,7 +92,7 @@ var grammar = regexp.MustCompile(`\A(?:` +
 	`)\z`)
 
 func TestParseSmallTexts(t *testing.T) { // P1.1, P1.8
-	for _, s := range smallTexts("0a~-:_", 6) {
+	for _, s := range samples.Texts(strings.Split("0a~-:_", ""), 6) {
 		v, e := debver.Parse(s)
 		if (e == api.OK) != grammar.MatchString(s) {
 			t.Fatalf("Parse(%q): %d, against the grammar", s, e)
@@ -166,12 +152,12 @@ func TestCheckErrors(t *testing.T) { // P1.1
 
 func TestCheckTakesJustWhatParseMakes(t *testing.T) { // P1.1, P1.8
 	made := map[api.Version]string{}
-	for _, s := range smallTexts("0-:_", 8) {
+	for _, s := range samples.Texts(strings.Split("0-:_", ""), 8) {
 		if v, e := debver.Parse(s); e == api.OK {
 			made[v] = s
 		}
 	}
-	parts := smallTexts("0-:_", 2)
+	parts := samples.Texts(strings.Split("0-:_", ""), 2)
 	for _, epoch := range parts {
 		for _, upstream := range parts {
 			for _, revision := range parts {

@@ -8,6 +8,7 @@ import (
 
 	"larder/api"
 	"larder/debver"
+	"larder/samples"
 )
 
 // weight and policyOrder hold two parts against one another the way dpkg does: in one pass over both, with weights of its own.
@@ -96,7 +97,7 @@ func TestOrderOfExamples(t *testing.T) { // P1.2, P1.3, P0.13, example 3
 }
 
 func TestOrderOfSmallParts(t *testing.T) { // P1.2: against the Policy's order, upstream and revision alike
-	parts := append(smallTexts("01a~.", 4), smallTexts("9Zz-:\x00\xff", 2)...)
+	parts := append(samples.Texts(strings.Split("01a~.", ""), 4), samples.Texts(strings.Split("9Zz-:\x00\xff", ""), 2)...)
 	for _, a := range parts {
 		for _, b := range parts {
 			want := policyOrder(a, b)
@@ -231,7 +232,7 @@ func TestSegments(t *testing.T) { // P1.5, example 5
 			t.Errorf("Segments(%q) = %q, want %q", c.part, l, c.want)
 		}
 	}
-	for _, part := range smallTexts("09a~", 6) {
+	for _, part := range samples.Texts(strings.Split("09a~", ""), 6) {
 		list := debver.Segments(part)
 		if strings.Join(list, "") != part {
 			t.Fatalf("Segments(%q) = %q", part, list)

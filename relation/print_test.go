@@ -9,6 +9,7 @@ import (
 
 	"larder/api"
 	"larder/relation"
+	"larder/samples"
 )
 
 func TestPrintAtom(t *testing.T) { // P2.5
@@ -186,8 +187,8 @@ func thereAndBack[T any](t *testing.T, s string, parse func(string) (T, api.Errn
 }
 
 func TestTextsThereAndBack(t *testing.T) { // P2.6
-	texts := smallTexts([]string{"aa", " ", "(", "=", "<<", "1", ")", "|", ","}, 5)
-	texts = append(texts, smallTexts([]string{" ", "aa", "bb(>=1)", "c+ ( << 2~-1)", "|", ",", "\n"}, 5)...)
+	texts := samples.Texts([]string{"aa", " ", "(", "=", "<<", "1", ")", "|", ","}, 5)
+	texts = append(texts, samples.Texts([]string{" ", "aa", "bb(>=1)", "c+ ( << 2~-1)", "|", ",", "\n"}, 5)...)
 	for _, s := range texts {
 		thereAndBack(t, s, relation.ParseAtom, relation.PrintAtom)
 		thereAndBack(t, s, relation.ParseClause, relation.PrintClause)

@@ -10,22 +10,8 @@ import (
 	"larder/api"
 	"larder/debver"
 	"larder/relation"
+	"larder/samples"
 )
-
-// smallTexts tells all texts of at most so many of the given pieces.
-func smallTexts(pieces []string, most int) []string {
-	all := []string{""}
-	for from := 0; most > 0; most-- {
-		end := len(all)
-		for _, s := range all[from:end] {
-			for _, piece := range pieces {
-				all = append(all, s+piece)
-			}
-		}
-		from = end
-	}
-	return all
-}
 
 // row tells a text of n pieces.
 func row(piece, between string, n int) string { return strings.Repeat(piece+between, n-1) + piece }
@@ -126,12 +112,12 @@ func holdAgainstOracles(t *testing.T, s string) {
 }
 
 func TestParseSmallTexts(t *testing.T) { // P2.2, P2.3, P2.4
-	for _, s := range smallTexts([]string{"a", " ", "(", ")", "=", "<", ">", "1", "|", ",", "\xff"}, 4) {
+	for _, s := range samples.Texts([]string{"a", " ", "(", ")", "=", "<", ">", "1", "|", ",", "\xff"}, 4) {
 		holdAgainstOracles(t, s)
 		holdAgainstOracles(t, "aa"+s)
 		holdAgainstOracles(t, "aa("+s+")")
 	}
-	for _, s := range smallTexts([]string{"aa", "\n", "(", ")", ">=", "1~", "|", ","}, 5) {
+	for _, s := range samples.Texts([]string{"aa", "\n", "(", ")", ">=", "1~", "|", ","}, 5) {
 		holdAgainstOracles(t, s)
 	}
 }
@@ -199,7 +185,7 @@ func TestParseAtomErrors(t *testing.T) { // P2.2, example 2; of several errors t
 }
 
 func TestParseOperators(t *testing.T) { // P2.2: the five, and nothing else of these bytes
-	for _, sign := range smallTexts([]string{"<", "=", ">"}, 3) {
+	for _, sign := range samples.Texts([]string{"<", "=", ">"}, 3) {
 		want, ok := oracleOps[sign]
 		a, e := relation.ParseAtom("aa (" + sign + " 1)")
 		if ok && (e != api.OK || a != (api.Atom{Name: "aa", Op: want, Version: "1"})) || !ok && e != api.ErrRelOp {
