@@ -159,54 +159,6 @@ func TestBack(t *testing.T) {
 	}
 }
 
-// roomy tells whole with room behind each of its lists.
-func roomy() api.Package {
-	p := whole()
-	beyond := api.Clause{{Name: "beyond"}}
-	for i := range p.Depends {
-		p.Depends[i] = samples.Roomy(p.Depends[i], beyond[0])
-	}
-	p.Depends, p.PreDepends = samples.Roomy(p.Depends, beyond), samples.Roomy(p.PreDepends, beyond)
-	p.Conflicts, p.Provides = samples.Roomy(p.Conflicts, beyond[0]), samples.Roomy(p.Provides, "beyond")
-	p.Files = samples.Roomy(p.Files, api.File{Path: "beyond"})
-	return p
-}
-
-// filled tells a copy of a package with the whole room of its lists.
-func filled(p api.Package) api.Package {
-	p.Depends, p.PreDepends = slices.Clone(p.Depends[:cap(p.Depends)]), slices.Clone(p.PreDepends[:cap(p.PreDepends)])
-	for i, c := range p.Depends {
-		p.Depends[i] = slices.Clone(c[:cap(c)])
-	}
-	p.Conflicts, p.Provides = slices.Clone(p.Conflicts[:cap(p.Conflicts)]), slices.Clone(p.Provides[:cap(p.Provides)])
-	p.Files = slices.Clone(p.Files[:cap(p.Files)])
-	return p
-}
-
-// spoil writes over all that a package's lists have, and behind it.
-func spoil(p api.Package) {
-	for _, l := range [][]api.Clause{p.Depends, p.PreDepends} {
-		for i, c := range l {
-			for j := range c {
-				c[j] = api.Atom{Name: "spoilt"}
-			}
-			_ = append(c, api.Atom{Name: "spoilt"})
-			l[i] = nil
-		}
-		_ = append(l, api.Clause{{Name: "spoilt"}})
-	}
-	for i := range p.Conflicts {
-		p.Conflicts[i] = api.Atom{Name: "spoilt"}
-	}
-	for i := range p.Provides {
-		p.Provides[i] = "spoilt"
-	}
-	for i := range p.Files {
-		p.Files[i] = api.File{Path: "spoilt"}
-	}
-	_, _, _ = append(p.Conflicts, api.Atom{Name: "spoilt"}), append(p.Provides, "spoilt"), append(p.Files, api.File{Path: "spoilt"})
-}
-
 // spoilFields writes over all that fields have, and behind it.
 func spoilFields(fields []api.Field) {
 	for i, f := range fields {
@@ -224,17 +176,17 @@ func spoilFields(fields []api.Field) {
 
 // Memory: a package that is handed in is left as it is, and what is answered is the caller's.
 func TestPackageMemory(t *testing.T) {
-	p := roomy()
-	before := filled(p)
+	p := samples.RoomyPackage(whole())
+	before := samples.Extent(p)
 	control.Check(p)
 	control.Key(p)
 	control.Same(p, p)
 	fields, _ := control.Fields(p)
 	text, _ := control.Print(p)
-	if !reflect.DeepEqual(filled(p), before) {
+	if !reflect.DeepEqual(samples.Extent(p), before) {
 		t.Fatal("Memory: a call writes into the package that it was given")
 	}
-	spoil(p)
+	samples.Spoil(p)
 	if back, _, e := control.Read(fields); e != api.OK || !control.Same(back, whole()) {
 		t.Error("Memory: what is written into a package changes its fields")
 	}

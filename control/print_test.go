@@ -7,7 +7,7 @@ import (
 
 	"larder/api"
 	"larder/control"
-	"larder/relation"
+	"larder/samples"
 	"larder/stanza"
 )
 
@@ -214,29 +214,6 @@ func TestCheckMany(t *testing.T) {
 	}
 }
 
-// longDepends tells a Depends that prints to so many bytes, of some millions.
-func longDepends(t *testing.T, size int) []api.Clause {
-	t.Helper()
-	const each = 140
-	atoms := api.MaxClauses * each
-	bytes := size - 3*(atoms-api.MaxClauses) - 2*(api.MaxClauses-1)
-	list := make([]api.Clause, api.MaxClauses)
-	for i := range list {
-		list[i] = make(api.Clause, each)
-		for j := range list[i] {
-			n := bytes / atoms
-			if i*each+j < bytes%atoms {
-				n++
-			}
-			list[i][j].Name = strings.Repeat("n", n)
-		}
-	}
-	if text, e := relation.PrintField(list); size <= api.MaxInput && (len(text) != size || e != api.OK) {
-		t.Fatalf("P2.5: a field of %d bytes has %d, %d", size, len(text), e)
-	}
-	return list
-}
-
 // P4.2, P4.5: a paragraph of MaxInput bytes, and one more; one field of more than that.
 func TestCheckLong(t *testing.T) {
 	room := api.MaxInput - len(head+"Depends: \n")
@@ -245,7 +222,7 @@ func TestCheckLong(t *testing.T) {
 		e    api.Errno
 	}{{room - 1, api.OK}, {room, api.OK}, {room + 1, api.ErrLong}, {api.MaxInput, api.ErrLong}, {api.MaxInput + 1, api.ErrCtlRelation}} {
 		p := lean()
-		p.Depends = longDepends(t, c.size)
+		p.Depends = samples.LongDepends(c.size)
 		holdCheck(t, p, c.e)
 		if c.e != api.OK {
 			continue
@@ -260,7 +237,7 @@ func TestCheckLong(t *testing.T) {
 
 // P4.2: what is too long over several fields; all else that is wrong is told ahead of it.
 func TestCheckLongTogether(t *testing.T) {
-	half := longDepends(t, 8500000)
+	half := samples.LongDepends(8500000)
 	p := lean()
 	p.Depends = half
 	holdCheck(t, p, api.OK)
@@ -281,19 +258,6 @@ func TestCheckLongTogether(t *testing.T) {
 	}
 }
 
-// dense tells a relation as it stands in a text with no blank that it can do without.
-func dense(clauses []api.Clause) string {
-	var texts []string
-	for _, c := range clauses {
-		var names []string
-		for _, a := range c {
-			names = append(names, a.Name)
-		}
-		texts = append(texts, strings.Join(names, "|"))
-	}
-	return strings.Join(texts, ",")
-}
-
 // P4.1: what can be read, but is too long as it is printed, is told at the first field; ahead of it goes all else that is wrong.
 func TestReadLong(t *testing.T) {
 	name, version := at(line("Package", "aa"), 7), at(line("Version", "1"), 9)
@@ -302,8 +266,8 @@ func TestReadLong(t *testing.T) {
 		size int
 		e    api.Errno
 	}{{room, api.OK}, {room + 1, api.ErrLong}, {api.MaxInput, api.ErrLong}, {api.MaxInput + 1, api.ErrLong}, {api.MaxInput + 100000, api.ErrLong}} {
-		depends := longDepends(t, c.size)
-		text := dense(depends)
+		depends := samples.LongDepends(c.size)
+		text := samples.Dense(depends)
 		if len(text) > api.MaxInput-100 {
 			t.Fatalf("a text of %d bytes is too long", len(text))
 		}
@@ -315,7 +279,7 @@ func TestReadLong(t *testing.T) {
 			holdBack(t, got)
 		}
 	}
-	long := at(line("Depends", dense(longDepends(t, api.MaxInput+1))), 20)
+	long := at(line("Depends", samples.Dense(samples.LongDepends(api.MaxInput+1))), 20)
 	for _, c := range []struct {
 		fields []api.Field
 		wrong  int

@@ -553,7 +553,7 @@ func TestReadMemory(t *testing.T) {
 		t.Error("Memory: Read writes into the fields that it was given")
 	}
 	spoilFields(fields)
-	spoil(again)
+	samples.Spoil(again)
 	if !control.Same(got, whole()) {
 		t.Errorf("Memory: what is written into fields, or into another answer, changes a package: %+v", got)
 	}

@@ -1,0 +1,116 @@
+package samples
+
+import (
+	"strings"
+
+	"larder/api"
+)
+
+// Full tells a package with all that a package may have, of a name and a version.
+func Full(name, version string) api.Package {
+	return api.Package{
+		Name: name, Version: version, Essential: true,
+		Depends:    []api.Clause{{{Name: "bb", Op: api.OpAtLeast, Version: "1"}, {Name: "cc"}}, {{Name: "dd"}}},
+		PreDepends: []api.Clause{{{Name: "ee", Op: api.OpMore, Version: "0~"}, {Name: "aa"}}},
+		Conflicts:  []api.Atom{{Name: "ff", Op: api.OpLess, Version: "2"}, {Name: "f2"}},
+		Provides:   []string{"gg", "hh"},
+		Files:      []api.File{{Path: "a", Size: 5}, {Path: "b/c", Sum: [32]byte{1, 31: 2}}},
+		Archive:    "pool/" + name, Size: 77, Sum: [32]byte{3, 31: 4},
+		Summary: "a thing",
+	}
+}
+
+// RoomyPackage tells a copy of a package whose lists have room beyond their ends, as Roomy makes it.
+func RoomyPackage(p api.Package) api.Package {
+	beyond := api.Atom{Name: "beyond"}
+	p.Depends = roomyClauses(p.Depends, beyond)
+	p.PreDepends = roomyClauses(p.PreDepends, beyond)
+	p.Conflicts = Roomy(p.Conflicts, beyond)
+	p.Provides = Roomy(p.Provides, "beyond")
+	p.Files = Roomy(p.Files, api.File{Path: "beyond"})
+	return p
+}
+
+func roomyClauses(list []api.Clause, beyond api.Atom) []api.Clause {
+	copied := make([]api.Clause, len(list))
+	for i, c := range list {
+		copied[i] = Roomy(c, beyond)
+	}
+	return Roomy(copied, api.Clause{beyond})
+}
+
+// Extent tells a copy of all that a package's lists have room for, to be held against what they have later.
+func Extent(p api.Package) api.Package {
+	p.Depends = extentOfClauses(p.Depends)
+	p.PreDepends = extentOfClauses(p.PreDepends)
+	p.Conflicts = extent(p.Conflicts)
+	p.Provides = extent(p.Provides)
+	p.Files = extent(p.Files)
+	return p
+}
+
+func extent[T any](list []T) []T { return append([]T{}, list[:cap(list)]...) }
+
+func extentOfClauses(list []api.Clause) []api.Clause {
+	copied := extent(list)
+	for i, c := range copied {
+		copied[i] = extent(c)
+	}
+	return copied
+}
+
+// Spoil writes over all that a package's lists have room for.
+func Spoil(p api.Package) {
+	bad := api.Atom{Name: "spoiled"}
+	spoilClauses(p.Depends, bad)
+	spoilClauses(p.PreDepends, bad)
+	fill(p.Conflicts, bad)
+	fill(p.Provides, "spoiled")
+	fill(p.Files, api.File{Path: "spoiled"})
+}
+
+func spoilClauses(list []api.Clause, bad api.Atom) {
+	for _, c := range list[:cap(list)] {
+		fill(c, bad)
+	}
+	fill(list, api.Clause{bad})
+}
+
+func fill[T any](list []T, bad T) {
+	room := list[:cap(list)]
+	for i := range room {
+		room[i] = bad
+	}
+}
+
+// LongDepends tells a Depends that prints to so many bytes, of some millions.
+func LongDepends(size int) []api.Clause {
+	const each = 140
+	atoms := api.MaxClauses * each
+	names := size - 3*(atoms-api.MaxClauses) - 2*(api.MaxClauses-1)
+	list := make([]api.Clause, api.MaxClauses)
+	for i := range list {
+		list[i] = make(api.Clause, each)
+		for j := range list[i] {
+			n := names / atoms
+			if i*each+j < names%atoms {
+				n++
+			}
+			list[i][j].Name = strings.Repeat("n", n)
+		}
+	}
+	return list
+}
+
+// Dense tells clauses without constraints as they stand in a text with no blank that it can do without.
+func Dense(clauses []api.Clause) string {
+	var texts []string
+	for _, c := range clauses {
+		var names []string
+		for _, a := range c {
+			names = append(names, a.Name)
+		}
+		texts = append(texts, strings.Join(names, "|"))
+	}
+	return strings.Join(texts, ",")
+}
