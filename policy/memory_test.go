@@ -1,0 +1,159 @@
+package policy_test
+
+import (
+	"reflect"
+	"slices"
+	"testing"
+
+	"larder/api"
+	"larder/policy"
+	"larder/samples"
+)
+
+// fill writes over all that a list has room for.
+func fill[T any](list []T, bad T) {
+	for i := range list[:cap(list)] {
+		list[:cap(list)][i] = bad
+	}
+}
+
+// given is what New is handed, with room beyond the ends of all lists.
+type given struct {
+	u     []api.Package
+	held  []api.Held
+	pins  []api.Pin
+	holds []string
+}
+
+func someGiven() given {
+	beyond := pkg("beyond 1")
+	full := func(name, version string) api.Package { return samples.RoomyPackage(samples.Full(name, version)) }
+	return given{
+		u:     samples.Roomy([]api.Package{full("aa", "1"), full("aa", "2"), full("bb", "1"), full("bb", "2"), full("cc", "1")}, beyond),
+		held:  samples.Roomy([]api.Held{{Package: full("bb", "1"), Mark: api.MarkAuto}, {Package: full("aa", "1")}}, api.Held{Package: beyond, Mark: 7}),
+		pins:  samples.Roomy([]api.Pin{pin("bb", api.OpMore, "1", 600), pin("*", api.OpEqual, "1", 7)}, pin("beyond", 9, "", 0)),
+		holds: samples.Roomy([]string{"zz", "aa"}, "beyond"),
+	}
+}
+
+// make makes the policy.
+func (g given) make(t *testing.T) *policy.Policy {
+	t.Helper()
+	p, e := policy.New(g.u, g.held, g.pins, g.holds)
+	if e != api.OK {
+		t.Fatalf("P8.2: New = %d", e)
+	}
+	return p
+}
+
+// extent tells a copy of all that has room there.
+func (g given) extent() given {
+	var copied given
+	for _, p := range g.u[:cap(g.u)] {
+		copied.u = append(copied.u, samples.Extent(p))
+	}
+	for _, h := range g.held[:cap(g.held)] {
+		copied.held = append(copied.held, api.Held{Package: samples.Extent(h.Package), Mark: h.Mark})
+	}
+	copied.pins = slices.Clone(g.pins[:cap(g.pins)])
+	copied.holds = slices.Clone(g.holds[:cap(g.holds)])
+	return copied
+}
+
+// spoil writes over all that has room there.
+func (g given) spoil() {
+	for _, p := range g.u {
+		samples.Spoil(p)
+	}
+	for _, h := range g.held {
+		samples.Spoil(h.Package)
+	}
+	fill(g.u, pkg("spoiled 1"))
+	fill(g.held, api.Held{Package: pkg("cc 1"), Mark: 7})
+	fill(g.pins, pin("*", api.OpAny, "", -10000))
+	fill(g.holds, "bb")
+}
+
+// holdGiven holds what the policy of someGiven tells.
+func holdGiven(t *testing.T, what string, p *policy.Policy) {
+	t.Helper()
+	w := world{
+		packages:  []string{"aa 1", "aa 2", "bb 1", "bb 2", "cc 1"},
+		installed: []string{"bb 1 auto", "aa 1"},
+		pins:      []api.Pin{pin("bb", api.OpMore, "1", 600), pin("*", api.OpEqual, "1", 7)},
+		holds:     []string{"zz", "aa"},
+	}
+	w.hold(t, p)
+	if tell(p.All()) != "aa 1, aa 2, bb 2, bb 1, cc 1" || tell(p.Upgrades()) != "bb 2" {
+		t.Errorf("P8.9: %s: All = %s, Upgrades = %s", what, tell(p.All()), tell(p.Upgrades()))
+	}
+}
+
+// P8.9: what is handed in is neither changed nor kept.
+func TestGivenMemory(t *testing.T) {
+	g := someGiven()
+	before, p := g.extent(), g.make(t)
+	holdGiven(t, "as it is", p)
+	if !reflect.DeepEqual(g.extent(), before) {
+		t.Error("P8.9: New writes into what it is given")
+	}
+	g.spoil()
+	holdGiven(t, "what was handed in is written over", p)
+}
+
+// P8.9: what is refused is not changed either.
+func TestRefusedMemory(t *testing.T) {
+	for _, wrong := range []func(g *given){
+		func(g *given) { slices.Reverse(g.u) },
+		func(g *given) { g.held[1].Mark = 2 },
+		func(g *given) { g.pins[1].Op = 6 },
+		func(g *given) { g.holds[1] = "?" },
+	} {
+		g := someGiven()
+		wrong(&g)
+		before := g.extent()
+		if p, e := policy.New(g.u, g.held, g.pins, g.holds); p != nil || e == api.OK {
+			t.Errorf("P8.2: New of what is wrong: %d", e)
+		}
+		if !reflect.DeepEqual(g.extent(), before) {
+			t.Error("P8.9: New writes into what it refuses")
+		}
+	}
+}
+
+// P8.9: what is answered is new memory.
+func TestAnsweredMemory(t *testing.T) {
+	g := someGiven()
+	before, p := g.extent(), g.make(t)
+	bad := api.Key{Name: "spoiled"}
+	for what, answer := range map[string]func() []api.Key{
+		"Ranked":   func() []api.Key { return p.Ranked("bb") },
+		"All":      p.All,
+		"Upgrades": p.Upgrades,
+	} {
+		kept, other := answer(), answer()
+		want := slices.Clone(kept)
+		fill(other, bad)
+		if !slices.Equal(kept, want) {
+			t.Errorf("P8.9: two answers of %s share memory", what)
+		}
+		// What is added to an answer goes nowhere else.
+		_ = append(answer(), bad, bad)
+		holdGiven(t, what+" is written over", p)
+		if !reflect.DeepEqual(g.extent(), before) {
+			t.Errorf("P8.9: what is written into %s is seen in what was handed in", what)
+		}
+	}
+}
+
+// P8.9: two policies have nothing in common.
+func TestApart(t *testing.T) {
+	g := someGiven()
+	p := g.make(t)
+	q, _ := policy.New(g.u, nil, nil, []string{"bb"})
+	fill(q.All(), api.Key{})
+	if tell(q.All()) != "aa 2, aa 1, bb 2, bb 1, cc 1" || q.Held("aa") || q.Held("bb") {
+		t.Errorf("P8.9: the other policy: All = %s", tell(q.All()))
+	}
+	holdGiven(t, "another policy over the same packages", p)
+}
