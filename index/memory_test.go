@@ -43,28 +43,21 @@ func spoil(ps []api.Package) {
 	}
 }
 
-// fill writes over all that a list has room for.
-func fill[T any](list []T, bad T) {
-	for i := range list[:cap(list)] {
-		list[:cap(list)][i] = bad
-	}
-}
-
 // spoilings tells ways to write over all that one list of a package has room for; the list itself is then put right again, so that only what shares its memory is wrong.
 func spoilings(right api.Package) []func(p *api.Package) {
 	bad := api.Atom{Name: "spoiled"}
 	list := []func(p *api.Package){
-		func(p *api.Package) { fill(p.Depends, api.Clause{bad}); p.Depends = right.Depends },
-		func(p *api.Package) { fill(p.PreDepends, api.Clause{bad}); p.PreDepends = right.PreDepends },
-		func(p *api.Package) { fill(p.Conflicts, bad); p.Conflicts = right.Conflicts },
-		func(p *api.Package) { fill(p.Provides, "spoiled"); p.Provides = right.Provides },
-		func(p *api.Package) { fill(p.Files, api.File{Path: "spoiled"}); p.Files = right.Files },
+		func(p *api.Package) { samples.Fill(p.Depends, api.Clause{bad}); p.Depends = right.Depends },
+		func(p *api.Package) { samples.Fill(p.PreDepends, api.Clause{bad}); p.PreDepends = right.PreDepends },
+		func(p *api.Package) { samples.Fill(p.Conflicts, bad); p.Conflicts = right.Conflicts },
+		func(p *api.Package) { samples.Fill(p.Provides, "spoiled"); p.Provides = right.Provides },
+		func(p *api.Package) { samples.Fill(p.Files, api.File{Path: "spoiled"}); p.Files = right.Files },
 	}
 	for i, c := range right.Depends {
-		list = append(list, func(p *api.Package) { fill(p.Depends[i], bad); p.Depends[i] = c })
+		list = append(list, func(p *api.Package) { samples.Fill(p.Depends[i], bad); p.Depends[i] = c })
 	}
 	for i, c := range right.PreDepends {
-		list = append(list, func(p *api.Package) { fill(p.PreDepends[i], bad); p.PreDepends[i] = c })
+		list = append(list, func(p *api.Package) { samples.Fill(p.PreDepends[i], bad); p.PreDepends[i] = c })
 	}
 	return list
 }
@@ -74,7 +67,7 @@ func holdApart(t *testing.T, what string, answer func() []api.Package) {
 	t.Helper()
 	want := answer()
 	got := answer()
-	fill(got, pkg("spoiled", "1"))
+	samples.Fill(got, pkg("spoiled", "1"))
 	if !same(answer(), want) {
 		t.Errorf("P5.8: two answers of %s share memory", what)
 	}
@@ -141,7 +134,7 @@ func TestHeldMemory(t *testing.T) {
 		t.Error("P5.8: what is written into a universe is seen in what is held")
 	}
 	spoil(ps)
-	fill(held, api.Held{})
+	samples.Fill(held, api.Held{})
 	if !same(got, fulls()) {
 		t.Errorf("P5.8: Universe keeps what is held: %s", tell(got))
 	}
@@ -158,7 +151,7 @@ func TestTextMemory(t *testing.T) {
 	}
 	want := bytes.Clone(text)
 	spoil(ps)
-	fill(other, '!')
+	samples.Fill(other, '!')
 	if !bytes.Equal(text, want) {
 		t.Error("P5.8: Print keeps what it is given, or answers it twice")
 	}
@@ -168,7 +161,7 @@ func TestTextMemory(t *testing.T) {
 	if e != api.OK || !bytes.Equal(given[:cap(given)], append(bytes.Clone(text), "!!"...)) {
 		t.Errorf("P5.8: Parse writes into what it is given: %d", e)
 	}
-	fill(given, '!')
+	samples.Fill(given, '!')
 	spoil(again)
 	if !same(got, fulls()) {
 		t.Errorf("P5.8: Parse keeps what it is given, or answers it twice: %s", tell(got))
@@ -224,12 +217,12 @@ func TestTableMemory(t *testing.T) {
 	for i := range table.Len() {
 		p, _ := table.At(i)
 		samples.Spoil(p)
-		fill(table.Users(i), -1)
+		samples.Fill(table.Users(i), -1)
 	}
 	for _, name := range []string{"aa", "gg", "hh"} {
-		fill(table.Versions(name), -1)
-		fill(table.Providers(name), -1)
-		fill(table.Satisfiers(api.Atom{Name: name}), -1)
+		samples.Fill(table.Versions(name), -1)
+		samples.Fill(table.Providers(name), -1)
+		samples.Fill(table.Satisfiers(api.Atom{Name: name}), -1)
 	}
 	if !reflect.DeepEqual(answers(table), want) {
 		t.Error("P5.8: what is written into an answer is seen in the table")
@@ -263,7 +256,7 @@ func TestPlacesMemory(t *testing.T) {
 	want := ask()
 	for i := range want {
 		got, again := ask(), ask()
-		fill(got[i], -1)
+		samples.Fill(got[i], -1)
 		got[i] = want[i]
 		if !reflect.DeepEqual(got, want) || !reflect.DeepEqual(again, want) || !reflect.DeepEqual(ask(), want) {
 			t.Errorf("P5.8: the answer %d shares memory with another", i)

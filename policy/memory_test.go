@@ -10,13 +10,6 @@ import (
 	"larder/samples"
 )
 
-// fill writes over all that a list has room for.
-func fill[T any](list []T, bad T) {
-	for i := range list[:cap(list)] {
-		list[:cap(list)][i] = bad
-	}
-}
-
 // given is what New is handed, with room beyond the ends of all lists.
 type given struct {
 	u     []api.Package
@@ -68,10 +61,10 @@ func (g given) spoil() {
 	for _, h := range g.held {
 		samples.Spoil(h.Package)
 	}
-	fill(g.u, pkg("spoiled 1"))
-	fill(g.held, api.Held{Package: pkg("cc 1"), Mark: 7})
-	fill(g.pins, pin("*", api.OpAny, "", -10000))
-	fill(g.holds, "bb")
+	samples.Fill(g.u, pkg("spoiled 1"))
+	samples.Fill(g.held, api.Held{Package: pkg("cc 1"), Mark: 7})
+	samples.Fill(g.pins, pin("*", api.OpAny, "", -10000))
+	samples.Fill(g.holds, "bb")
 }
 
 // holdGiven holds what the policy of someGiven tells.
@@ -133,7 +126,7 @@ func TestAnsweredMemory(t *testing.T) {
 	} {
 		kept, other := answer(), answer()
 		want := slices.Clone(kept)
-		fill(other, bad)
+		samples.Fill(other, bad)
 		if !slices.Equal(kept, want) {
 			t.Errorf("P8.9: two answers of %s share memory", what)
 		}
@@ -151,7 +144,7 @@ func TestApart(t *testing.T) {
 	g := someGiven()
 	p := g.make(t)
 	q, _ := policy.New(g.u, nil, nil, []string{"bb"})
-	fill(q.All(), api.Key{})
+	samples.Fill(q.All(), api.Key{})
 	if tell(q.All()) != "aa 2, aa 1, bb 2, bb 1, cc 1" || q.Held("aa") || q.Held("bb") {
 		t.Errorf("P8.9: the other policy: All = %s", tell(q.All()))
 	}

@@ -43,18 +43,16 @@ func roomyClauses(list []api.Clause, beyond api.Atom) []api.Clause {
 func Extent(p api.Package) api.Package {
 	p.Depends = extentOfClauses(p.Depends)
 	p.PreDepends = extentOfClauses(p.PreDepends)
-	p.Conflicts = extent(p.Conflicts)
-	p.Provides = extent(p.Provides)
-	p.Files = extent(p.Files)
+	p.Conflicts = Room(p.Conflicts)
+	p.Provides = Room(p.Provides)
+	p.Files = Room(p.Files)
 	return p
 }
 
-func extent[T any](list []T) []T { return append([]T{}, list[:cap(list)]...) }
-
 func extentOfClauses(list []api.Clause) []api.Clause {
-	copied := extent(list)
+	copied := Room(list)
 	for i, c := range copied {
-		copied[i] = extent(c)
+		copied[i] = Room(c)
 	}
 	return copied
 }
@@ -64,23 +62,16 @@ func Spoil(p api.Package) {
 	bad := api.Atom{Name: "spoiled"}
 	spoilClauses(p.Depends, bad)
 	spoilClauses(p.PreDepends, bad)
-	fill(p.Conflicts, bad)
-	fill(p.Provides, "spoiled")
-	fill(p.Files, api.File{Path: "spoiled"})
+	Fill(p.Conflicts, bad)
+	Fill(p.Provides, "spoiled")
+	Fill(p.Files, api.File{Path: "spoiled"})
 }
 
 func spoilClauses(list []api.Clause, bad api.Atom) {
 	for _, c := range list[:cap(list)] {
-		fill(c, bad)
+		Fill(c, bad)
 	}
-	fill(list, api.Clause{bad})
-}
-
-func fill[T any](list []T, bad T) {
-	room := list[:cap(list)]
-	for i := range room {
-		room[i] = bad
-	}
+	Fill(list, api.Clause{bad})
 }
 
 // LongDepends tells a Depends that prints to so many bytes, of some millions.

@@ -1,14 +1,28 @@
 // Package samples makes what the tests of several layers are fed with. No layer calls it.
 package samples
 
+import (
+	"slices"
+	"strings"
+)
+
 // Texts tells all texts of at most so many of the given pieces, the shorter ones first.
 func Texts(pieces []string, most int) []string {
-	all := []string{""}
+	var all []string
+	for _, list := range Lists(pieces, most) {
+		all = append(all, strings.Join(list, ""))
+	}
+	return all
+}
+
+// Lists tells all lists of at most so many of the given items, the shorter ones first.
+func Lists[T any](items []T, most int) [][]T {
+	all := [][]T{nil}
 	for from := 0; most > 0; most-- {
 		end := len(all)
-		for _, text := range all[from:end] {
-			for _, piece := range pieces {
-				all = append(all, text+piece)
+		for _, list := range all[from:end] {
+			for _, item := range items {
+				all = append(all, append(slices.Clone(list), item))
 			}
 		}
 		from = end
@@ -21,4 +35,15 @@ func Roomy[T any](list []T, beyond T) []T {
 	room := append(make([]T, 0, len(list)+2), list...)
 	room = append(room, beyond, beyond)
 	return room[:len(list)]
+}
+
+// Room tells a copy of all that a list has room for, to be held against what it has later.
+func Room[T any](list []T) []T { return append([]T{}, list[:cap(list)]...) }
+
+// Fill writes over all that a list has room for.
+func Fill[T any](list []T, bad T) {
+	room := list[:cap(list)]
+	for i := range room {
+		room[i] = bad
+	}
 }

@@ -26,3 +26,22 @@ func TestRoomy(t *testing.T) {
 		t.Error("Roomy answers the list itself")
 	}
 }
+
+func TestLists(t *testing.T) {
+	want := [][]int{nil, {7}, {8}, {7, 7}, {7, 8}, {8, 7}, {8, 8}}
+	if got := samples.Lists([]int{7, 8}, 2); !slices.EqualFunc(got, want, slices.Equal) {
+		t.Errorf("Lists = %v, want %v", got, want)
+	}
+	if got := samples.Lists([]int{}, 2); len(got) != 1 || len(got[0]) != 0 {
+		t.Errorf("Lists of no items = %v", got)
+	}
+}
+
+func TestRoom(t *testing.T) {
+	list := samples.Roomy([]int{1}, 9)
+	copied := samples.Room(list)
+	samples.Fill(list, 5)
+	if !slices.Equal(copied, []int{1, 9, 9}) || !slices.Equal(list[:cap(list)], []int{5, 5, 5}) {
+		t.Errorf("Room = %v, filled %v", copied, list[:cap(list)])
+	}
+}
