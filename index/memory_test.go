@@ -17,32 +17,6 @@ func fulls() []api.Package {
 	return []api.Package{samples.Full("aa", "1"), samples.Full("aa", "1.0"), samples.Full("gg", "1"), pkg("hh", "1")}
 }
 
-// roomy tells packages whose lists, and the list itself, have room beyond their ends.
-func roomy(ps []api.Package) []api.Package {
-	list := make([]api.Package, len(ps))
-	for i, p := range ps {
-		list[i] = samples.RoomyPackage(p)
-	}
-	return samples.Roomy(list, pkg("beyond", "1"))
-}
-
-// extents tells a copy of all that packages have room for.
-func extents(ps []api.Package) []api.Package {
-	var list []api.Package
-	for _, p := range ps[:cap(ps)] {
-		list = append(list, samples.Extent(p))
-	}
-	return list
-}
-
-// spoil writes over all that packages have room for.
-func spoil(ps []api.Package) {
-	for i, p := range ps[:cap(ps)] {
-		samples.Spoil(p)
-		ps[:cap(ps)][i] = pkg("spoiled", "1")
-	}
-}
-
 // spoilings tells ways to write over all that one list of a package has room for; the list itself is then put right again, so that only what shares its memory is wrong.
 func spoilings(right api.Package) []func(p *api.Package) {
 	bad := api.Atom{Name: "spoiled"}
@@ -85,22 +59,22 @@ func holdApart(t *testing.T, what string, answer func() []api.Package) {
 // holdLists holds that a call leaves the packages that it is given as they are, keeps nothing of them, and answers new memory.
 func holdLists(t *testing.T, what string, want []api.Package, call func(ps []api.Package) []api.Package) {
 	t.Helper()
-	ps := roomy(fulls())
+	ps := samples.RoomyPackages(fulls())
 	slices.Reverse(ps)
-	before := extents(ps)
+	before := samples.ExtentOfPackages(ps)
 	got, again := call(ps), call(ps)
-	if !reflect.DeepEqual(extents(ps), before) {
+	if !reflect.DeepEqual(samples.ExtentOfPackages(ps), before) {
 		t.Errorf("P5.8: %s writes into what it is given", what)
 	}
-	spoil(again)
-	if !reflect.DeepEqual(extents(ps), before) {
+	samples.SpoilPackages(again)
+	if !reflect.DeepEqual(samples.ExtentOfPackages(ps), before) {
 		t.Errorf("P5.8: what is written into the answer of %s is seen in what it was given", what)
 	}
-	spoil(ps)
+	samples.SpoilPackages(ps)
 	if !same(got, want) {
 		t.Errorf("P5.8: %s keeps what it is given, or answers it twice: %s", what, tell(got))
 	}
-	holdApart(t, what, func() []api.Package { return call(roomy(fulls())) })
+	holdApart(t, what, func() []api.Package { return call(samples.RoomyPackages(fulls())) })
 }
 
 // P5.8: Sorted and Universe.
@@ -121,19 +95,19 @@ func TestListMemory(t *testing.T) {
 
 // P5.8: what is held is left as it is, and not kept.
 func TestHeldMemory(t *testing.T) {
-	ps := roomy(fulls())
+	ps := samples.RoomyPackages(fulls())
 	held := samples.Roomy(installed(ps), api.Held{Package: pkg("beyond", "1"), Mark: 7})
-	before, kept := extents(ps), slices.Clone(held[:cap(held)])
+	before, kept := samples.ExtentOfPackages(ps), slices.Clone(held[:cap(held)])
 	got, e := index.Universe(nil, held)
 	again, _ := index.Universe(nil, held)
-	if e != api.OK || !reflect.DeepEqual(extents(ps), before) || !reflect.DeepEqual(held[:cap(held)], kept) {
+	if e != api.OK || !reflect.DeepEqual(samples.ExtentOfPackages(ps), before) || !reflect.DeepEqual(held[:cap(held)], kept) {
 		t.Errorf("P5.8: Universe writes into what is held: %d", e)
 	}
-	spoil(again)
-	if !reflect.DeepEqual(extents(ps), before) || !reflect.DeepEqual(held[:cap(held)], kept) {
+	samples.SpoilPackages(again)
+	if !reflect.DeepEqual(samples.ExtentOfPackages(ps), before) || !reflect.DeepEqual(held[:cap(held)], kept) {
 		t.Error("P5.8: what is written into a universe is seen in what is held")
 	}
-	spoil(ps)
+	samples.SpoilPackages(ps)
 	samples.Fill(held, api.Held{})
 	if !same(got, fulls()) {
 		t.Errorf("P5.8: Universe keeps what is held: %s", tell(got))
@@ -142,15 +116,15 @@ func TestHeldMemory(t *testing.T) {
 
 // P5.8: texts that are handed in and answered.
 func TestTextMemory(t *testing.T) {
-	ps := roomy(fulls())
-	before := extents(ps)
+	ps := samples.RoomyPackages(fulls())
+	before := samples.ExtentOfPackages(ps)
 	text, _ := index.Print(ps)
 	other, _ := index.Print(ps)
-	if !reflect.DeepEqual(extents(ps), before) {
+	if !reflect.DeepEqual(samples.ExtentOfPackages(ps), before) {
 		t.Error("P5.8: Print writes into what it is given")
 	}
 	want := bytes.Clone(text)
-	spoil(ps)
+	samples.SpoilPackages(ps)
 	samples.Fill(other, '!')
 	if !bytes.Equal(text, want) {
 		t.Error("P5.8: Print keeps what it is given, or answers it twice")
@@ -162,7 +136,7 @@ func TestTextMemory(t *testing.T) {
 		t.Errorf("P5.8: Parse writes into what it is given: %d", e)
 	}
 	samples.Fill(given, '!')
-	spoil(again)
+	samples.SpoilPackages(again)
 	if !same(got, fulls()) {
 		t.Errorf("P5.8: Parse keeps what it is given, or answers it twice: %s", tell(got))
 	}
@@ -174,18 +148,18 @@ func TestTextMemory(t *testing.T) {
 
 // P5.8: what Check and New are handed is left as it is.
 func TestCheckMemory(t *testing.T) {
-	ps := roomy(fulls())
-	before := extents(ps)
+	ps := samples.RoomyPackages(fulls())
+	before := samples.ExtentOfPackages(ps)
 	index.Check(ps)
 	index.New(ps)
 	slices.Reverse(ps)
-	reversed := extents(ps)
+	reversed := samples.ExtentOfPackages(ps)
 	index.Check(ps)
 	index.New(ps)
-	if !reflect.DeepEqual(extents(ps), reversed) {
+	if !reflect.DeepEqual(samples.ExtentOfPackages(ps), reversed) {
 		t.Error("P5.8: a call writes into what it refuses")
 	}
-	if slices.Reverse(ps); !reflect.DeepEqual(extents(ps), before) {
+	if slices.Reverse(ps); !reflect.DeepEqual(samples.ExtentOfPackages(ps), before) {
 		t.Error("P5.8: a call writes into what it is given")
 	}
 }
@@ -206,11 +180,11 @@ func answers(table *index.Table) []any {
 
 // P5.8: a table is its own, whatever is written into what it was made of, or into what it answers.
 func TestTableMemory(t *testing.T) {
-	ps := roomy(fulls())
+	ps := samples.RoomyPackages(fulls())
 	table := tableOf(t, ps)
 	names := table.Names()
-	want := answers(tableOf(t, roomy(fulls())))
-	spoil(ps)
+	want := answers(tableOf(t, samples.RoomyPackages(fulls())))
+	samples.SpoilPackages(ps)
 	if !reflect.DeepEqual(answers(table), want) {
 		t.Error("P5.8: New keeps what it is given")
 	}

@@ -19,11 +19,11 @@ type given struct {
 }
 
 func someGiven() given {
-	beyond := pkg("beyond 1")
-	full := func(name, version string) api.Package { return samples.RoomyPackage(samples.Full(name, version)) }
 	return given{
-		u:     samples.Roomy([]api.Package{full("aa", "1"), full("aa", "2"), full("bb", "1"), full("bb", "2"), full("cc", "1")}, beyond),
-		held:  samples.Roomy([]api.Held{{Package: full("bb", "1"), Mark: api.MarkAuto}, {Package: full("aa", "1")}}, api.Held{Package: beyond, Mark: 7}),
+		u: samples.RoomyPackages([]api.Package{
+			samples.Full("aa", "1"), samples.Full("aa", "2"), samples.Full("bb", "1"), samples.Full("bb", "2"), samples.Full("cc", "1"),
+		}),
+		held:  samples.RoomyHeld([]api.Held{{Package: samples.Full("bb", "1"), Mark: api.MarkAuto}, {Package: samples.Full("aa", "1")}}),
 		pins:  samples.Roomy([]api.Pin{pin("bb", api.OpMore, "1", 600), pin("*", api.OpEqual, "1", 7)}, pin("beyond", 9, "", 0)),
 		holds: samples.Roomy([]string{"zz", "aa"}, "beyond"),
 	}
@@ -41,28 +41,13 @@ func (g given) make(t *testing.T) *policy.Policy {
 
 // extent tells a copy of all that has room there.
 func (g given) extent() given {
-	var copied given
-	for _, p := range g.u[:cap(g.u)] {
-		copied.u = append(copied.u, samples.Extent(p))
-	}
-	for _, h := range g.held[:cap(g.held)] {
-		copied.held = append(copied.held, api.Held{Package: samples.Extent(h.Package), Mark: h.Mark})
-	}
-	copied.pins = slices.Clone(g.pins[:cap(g.pins)])
-	copied.holds = slices.Clone(g.holds[:cap(g.holds)])
-	return copied
+	return given{samples.ExtentOfPackages(g.u), samples.ExtentOfHeld(g.held), samples.Room(g.pins), samples.Room(g.holds)}
 }
 
 // spoil writes over all that has room there.
 func (g given) spoil() {
-	for _, p := range g.u {
-		samples.Spoil(p)
-	}
-	for _, h := range g.held {
-		samples.Spoil(h.Package)
-	}
-	samples.Fill(g.u, pkg("spoiled 1"))
-	samples.Fill(g.held, api.Held{Package: pkg("cc 1"), Mark: 7})
+	samples.SpoilPackages(g.u)
+	samples.SpoilHeld(g.held)
 	samples.Fill(g.pins, pin("*", api.OpAny, "", -10000))
 	samples.Fill(g.holds, "bb")
 }
