@@ -54,14 +54,14 @@ func TestCheckAlone(t *testing.T) {
 		{"twice", func(s *scene) { s.u[1] = s.u[0] }, api.ErrResUniverse},
 		{"a package that may not be", func(s *scene) { s.u[3].Summary = "\n" }, api.ErrResUniverse},
 
-		{"held twice", held1(api.Held{Package: pkg("bb 1 essential")}), api.ErrResHeld},
-		{"two of one name", held1(api.Held{Package: pkg("aa 2")}), api.ErrResHeld},
-		{"another version", held1(api.Held{Package: pkg("cc 1.0")}), api.ErrResHeld},
-		{"another name", held1(api.Held{Package: pkg("dd 1")}), api.ErrResHeld},
+		{"held twice", held1(api.Held{Package: samples.Package("bb 1 essential")}), api.ErrResHeld},
+		{"two of one name", held1(api.Held{Package: samples.Package("aa 2")}), api.ErrResHeld},
+		{"another version", held1(api.Held{Package: samples.Package("cc 1.0")}), api.ErrResHeld},
+		{"another name", held1(api.Held{Package: samples.Package("dd 1")}), api.ErrResHeld},
 		{"no package", held1(api.Held{}), api.ErrResHeld},
-		{"one more", held1(api.Held{Package: pkg("cc 1"), Mark: api.MarkAuto}), api.OK},
-		{"a mark of 2", held1(api.Held{Package: pkg("cc 1"), Mark: 2}), api.ErrResHeld},
-		{"a mark of -1", held1(api.Held{Package: pkg("cc 1"), Mark: -1}), api.ErrResHeld},
+		{"one more", held1(api.Held{Package: samples.Package("cc 1"), Mark: api.MarkAuto}), api.OK},
+		{"a mark of 2", held1(api.Held{Package: samples.Package("cc 1"), Mark: 2}), api.ErrResHeld},
+		{"a mark of -1", held1(api.Held{Package: samples.Package("cc 1"), Mark: -1}), api.ErrResHeld},
 
 		{"a kind of 3", wish1(api.Wish{Kind: 3}), api.ErrArg},
 		{"a kind of -1", wish1(atom(-1, "aa", 0, "")), api.ErrArg},
@@ -106,14 +106,14 @@ func TestCheckAlone(t *testing.T) {
 		{"one beyond", budget(api.MaxBudget + 1), api.ErrArg},
 		{"none", budget(0), api.OK},
 
-		{"both", wish1(wish("install aa")), api.ErrResBoth},
-		{"both, with constraints that leave room", wish1(wish("install aa(<=1)")), api.ErrResBoth},
-		{"both, the removal behind", wish1(wish("remove cc(=9)")), api.ErrResBoth},
-		{"an Essential package goes", wish1(wish("remove bb")), api.ErrResEssential},
-		{"it goes by a constraint", wish1(wish("remove bb(<=1.0)")), api.ErrResEssential},
-		{"it stays by a constraint", wish1(wish("remove bb(>>1)")), api.OK},
-		{"it is not installed", func(s *scene) { s.held = nil; s.r.Wishes = append(s.r.Wishes, wish("remove bb")) }, api.OK},
-		{"the installed one is not Essential", func(s *scene) { s.u[1].Essential = true; s.r.Wishes = append(s.r.Wishes, wish("remove aa")) }, api.OK},
+		{"both", wish1(samples.Wish("install aa")), api.ErrResBoth},
+		{"both, with constraints that leave room", wish1(samples.Wish("install aa(<=1)")), api.ErrResBoth},
+		{"both, the removal behind", wish1(samples.Wish("remove cc(=9)")), api.ErrResBoth},
+		{"an Essential package goes", wish1(samples.Wish("remove bb")), api.ErrResEssential},
+		{"it goes by a constraint", wish1(samples.Wish("remove bb(<=1.0)")), api.ErrResEssential},
+		{"it stays by a constraint", wish1(samples.Wish("remove bb(>>1)")), api.OK},
+		{"it is not installed", func(s *scene) { s.held = nil; s.r.Wishes = append(s.r.Wishes, samples.Wish("remove bb")) }, api.OK},
+		{"the installed one is not Essential", func(s *scene) { s.u[1].Essential = true; s.r.Wishes = append(s.r.Wishes, samples.Wish("remove aa")) }, api.OK},
 	} {
 		s := base()
 		c.spoil(&s)
@@ -173,15 +173,15 @@ func TestCheckOrder(t *testing.T) {
 	}
 	rows := []wrong{
 		{"universe", func(s *scene) { s.u[2].Version = "" }, api.ErrResUniverse},
-		{"held", held1(api.Held{Package: pkg("dd 1")}), api.ErrResHeld},
+		{"held", held1(api.Held{Package: samples.Package("dd 1")}), api.ErrResHeld},
 		{"a wish's version", wish1(atom(api.WishInstall, "zz", api.OpLess, "")), api.ErrResVersion},
 		{"a later wish's kind", wish1(api.Wish{Kind: 9}), api.ErrArg},
 		{"a pin's name", pin1(api.Pin{Name: "A"}), api.ErrResName},
 		{"a later pin's priority", pin1(api.Pin{Name: "aa", Priority: 1 << 40}), api.ErrArg},
 		{"a hold", hold1("a"), api.ErrResName},
 		{"budget", budget(-1), api.ErrArg},
-		{"both", wish1(wish("install aa")), api.ErrResBoth},
-		{"Essential", wish1(wish("remove bb")), api.ErrResEssential},
+		{"both", wish1(samples.Wish("install aa")), api.ErrResBoth},
+		{"Essential", wish1(samples.Wish("remove bb")), api.ErrResEssential},
 		{"many", func(s *scene) { s.r.Holds = append(s.r.Holds, many...) }, api.ErrResMany},
 	}
 	for i, a := range rows {

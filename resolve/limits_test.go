@@ -8,13 +8,14 @@ import (
 	"testing"
 
 	"larder/api"
+	"larder/samples"
 )
 
 // many makes so many packages in order, of which each is made of its number; numbers have as many digits as one another.
 func many(n int, words func(number int) string) []api.Package {
 	u := make([]api.Package, n)
 	for i := range u {
-		u[i] = pkg(words(1000000 + i))
+		u[i] = samples.Package(words(1000000 + i))
 	}
 	return u
 }
@@ -45,7 +46,7 @@ func TestMaxRules(t *testing.T) {
 	s := atRules(0)
 	last := s.u[len(s.u)-1]
 	// These say what stands, too.
-	s.r.Wishes = []api.Wish{wish("remove " + last.Name), wish("remove " + last.Name + "(<=1)")}
+	s.r.Wishes = []api.Wish{samples.Wish("remove " + last.Name), samples.Wish("remove " + last.Name + "(<=1)")}
 	clauses, e := clausesOf(s)
 	if e != api.OK || len(clauses) != api.MaxRules || !slices.Equal(clauses[len(clauses)-1], []int{1 - len(s.u)}) {
 		t.Fatalf("P10.2: at the bound: %d clauses, %d", len(clauses), e)
@@ -54,7 +55,7 @@ func TestMaxRules(t *testing.T) {
 		t.Errorf("P10.5: at the bound, without a budget: %v, %d, %d", set, steps, e)
 	}
 	for what, beyond := range map[string]func(s *scene){
-		"an install":           func(s *scene) { s.r.Wishes = []api.Wish{wish("install " + last.Name)} },
+		"an install":           func(s *scene) { s.r.Wishes = []api.Wish{samples.Wish("install " + last.Name)} },
 		"one more of the name": func(s *scene) { s.u = append(versions(1449, "aa"), s.u[1448:]...) },
 		"a path": func(s *scene) {
 			s.u[0].Files = []api.File{{Path: "f"}}
@@ -97,7 +98,7 @@ func TestMaxUniverse(t *testing.T) {
 		}
 	}
 	s.u = s.u[:api.MaxUniverse]
-	s.r.Wishes = []api.Wish{wish("install xx"), wish("install " + s.u[len(s.u)-1].Name)}
+	s.r.Wishes = []api.Wish{samples.Wish("install xx"), samples.Wish("install " + s.u[len(s.u)-1].Name)}
 	clauses, e := clausesOf(s)
 	if e != api.OK || len(clauses) != 2 || len(clauses[0]) != api.MaxUniverse || !slices.Equal(clauses[1], []int{api.MaxUniverse}) {
 		t.Fatalf("P10.2: at the bound: %d clauses, %d", len(clauses), e)
@@ -181,7 +182,7 @@ func TestManyWishes(t *testing.T) {
 		s.held = append(s.held, api.Held{Package: p})
 	}
 	for range 100000 {
-		s.r.Wishes = append(s.r.Wishes, wish("upgrade"), wish("install xx"), wish("remove zz"))
+		s.r.Wishes = append(s.r.Wishes, samples.Wish("upgrade"), samples.Wish("install xx"), samples.Wish("remove zz"))
 	}
 	rules, e := rulesOf(s)
 	if e != api.OK || len(rules) != 1001 || rules[0].Index != 0 || rules[1000].Index != 1 {

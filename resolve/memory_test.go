@@ -30,7 +30,7 @@ func (s scene) room() scene {
 func (s scene) spoil() {
 	samples.SpoilPackages(s.u)
 	samples.SpoilHeld(s.held)
-	samples.Fill(s.r.Wishes, wish("install spoiled"))
+	samples.Fill(s.r.Wishes, samples.Wish("install spoiled"))
 	samples.Fill(s.r.Pins, api.Pin{Name: "*", Priority: -1})
 	samples.Fill(s.r.Holds, "spoiled")
 }

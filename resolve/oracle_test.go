@@ -9,6 +9,7 @@ import (
 	"larder/debver"
 	"larder/policy"
 	"larder/resolve"
+	"larder/samples"
 	"larder/solver"
 )
 
@@ -32,7 +33,7 @@ func fits(a api.Atom, version string) bool {
 	if a.Op == api.OpAny {
 		return true
 	}
-	d := must(debver.Compare(version, a.Version))
+	d := samples.Must(debver.Compare(version, a.Version))
 	return [...]bool{api.OpLess: d < 0, api.OpAtMost: d <= 0, api.OpEqual: d == 0, api.OpAtLeast: d >= 0, api.OpMore: d > 0}[a.Op]
 }
 
@@ -50,7 +51,9 @@ func hasPath(p api.Package, path string) bool {
 
 func key(p api.Package) api.Key { return api.Key{Name: p.Name, Version: p.Version} }
 
-func (s scene) liked() *policy.Policy { return must(policy.New(s.u, s.held, s.r.Pins, s.r.Holds)) }
+func (s scene) liked() *policy.Policy {
+	return samples.Must(policy.New(s.u, s.held, s.r.Pins, s.r.Holds))
+}
 
 // installed tells the places of what is held, rising.
 func (s scene) installed() []int {
@@ -212,7 +215,7 @@ func (s scene) prefer() []int {
 			}
 			name := s.u[p].Name
 			best, _ := s.liked().Candidate(name)
-			if s.upgrades() && !slices.Contains(s.r.Holds, name) && must(debver.Compare(best.Version, s.u[p].Version)) > 0 {
+			if s.upgrades() && !slices.Contains(s.r.Holds, name) && samples.Must(debver.Compare(best.Version, s.u[p].Version)) > 0 {
 				list = append(list, s.place(best)+1)
 			}
 			list = append(list, p+1)
@@ -375,7 +378,7 @@ func (s scene) holdSets(t *testing.T, clauses [][]int) bool {
 		for _, p := range set {
 			values[p] = true
 		}
-		if broken := must(solver.Holds(len(s.u), clauses, values)); want != (broken < 0) {
+		if broken := samples.Must(solver.Holds(len(s.u), clauses, values)); want != (broken < 0) {
 			t.Fatalf("P10.6: %v: %v: is it what is asked: %t; the first broken clause is %d", s, set, want, broken)
 		}
 	}
@@ -385,7 +388,7 @@ func (s scene) holdSets(t *testing.T, clauses [][]int) bool {
 // holdTarget holds P10.5 and P10.7 to P10.9 with budgets of all kinds.
 func (s scene) holdTarget(t *testing.T, clauses [][]int, possible bool) seen {
 	t.Helper()
-	found := must(solver.Solve(len(s.u), clauses, s.prefer(), api.MaxBudget))
+	found := samples.Must(solver.Solve(len(s.u), clauses, s.prefer(), api.MaxBudget))
 	enough := 1 << (len(s.u) + 1) * len(clauses)
 	var is seen
 	for _, s.r.Budget = range []int{0, found.Steps - 1, found.Steps, enough, api.MaxBudget} {

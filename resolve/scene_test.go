@@ -7,62 +7,8 @@ import (
 	"testing"
 
 	"larder/api"
-	"larder/relation"
+	"larder/samples"
 )
-
-// must tells what was read, which the tests wrote.
-func must[T any](x T, e api.Errno) T {
-	if e != api.OK {
-		panic(e)
-	}
-	return x
-}
-
-// pkg reads a package as `aa 1 essential depends=bb|cc(>=2) pre=dd conflicts=ee,ff(=1) provides=gg,hh files=a,b/c`; each depends and each pre is one clause.
-func pkg(text string) api.Package {
-	words := strings.Fields(text)
-	p := api.Package{Name: words[0], Version: words[1]}
-	for _, word := range words[2:] {
-		what, value, _ := strings.Cut(word, "=")
-		switch what {
-		case "essential":
-			p.Essential = true
-		case "depends":
-			p.Depends = append(p.Depends, must(relation.ParseClause(value)))
-		case "pre":
-			p.PreDepends = append(p.PreDepends, must(relation.ParseClause(value)))
-		case "conflicts":
-			p.Conflicts = must(relation.ParseAtoms(value))
-		case "provides":
-			p.Provides = strings.Split(value, ",")
-		case "files":
-			for _, path := range strings.Split(value, ",") {
-				p.Files = append(p.Files, api.File{Path: path})
-			}
-		default:
-			panic(word)
-		}
-	}
-	return p
-}
-
-// wish reads a wish as `install aa(>=2)`, `remove aa` or `upgrade`.
-func wish(text string) api.Wish {
-	what, atom, _ := strings.Cut(text, " ")
-	kind := slices.Index([]string{api.WishInstall: "install", api.WishRemove: "remove", api.WishUpgrade: "upgrade"}, what)
-	if kind == api.WishUpgrade {
-		return api.Wish{Kind: kind}
-	}
-	return api.Wish{Kind: kind, Atom: must(relation.ParseAtom(atom))}
-}
-
-// parts cuts a text into its parts; an empty one has none.
-func parts(text string) []string {
-	if text == "" {
-		return nil
-	}
-	return strings.Split(text, "; ")
-}
 
 // scene is what the calls are handed.
 type scene struct {
@@ -73,18 +19,13 @@ type scene struct {
 
 // see makes a scene: packages, those of them that are installed, wishes, names that are held; each with `; ` between them.
 func see(packages, installed, wishes, holds string) scene {
-	var s scene
-	for _, text := range parts(packages) {
-		s.u = append(s.u, pkg(text))
-	}
-	for _, text := range parts(installed) {
+	s := scene{u: samples.Packages(packages)}
+	for _, text := range samples.Parts(installed) {
 		name, version, _ := strings.Cut(text, " ")
 		s.held = append(s.held, api.Held{Package: s.u[s.place(api.Key{Name: name, Version: version})]})
 	}
-	for _, text := range parts(wishes) {
-		s.r.Wishes = append(s.r.Wishes, wish(text))
-	}
-	s.r.Holds = parts(holds)
+	s.r.Wishes = samples.Wishes(wishes)
+	s.r.Holds = samples.Parts(holds)
 	s.r.Budget = 1 << 20
 	return s
 }

@@ -1,0 +1,81 @@
+package samples
+
+import (
+	"slices"
+	"strings"
+
+	"larder/api"
+	"larder/relation"
+)
+
+// Must tells what was read of a text that a test has written; where it was not, the test is wrong.
+func Must[T any](x T, e api.Errno) T {
+	if e != api.OK {
+		panic(e)
+	}
+	return x
+}
+
+// Parts cuts a text at each `; `; an empty one has no parts.
+func Parts(text string) []string {
+	if text == "" {
+		return nil
+	}
+	return strings.Split(text, "; ")
+}
+
+// Packages reads packages with `; ` between them.
+func Packages(text string) []api.Package {
+	var list []api.Package
+	for _, part := range Parts(text) {
+		list = append(list, Package(part))
+	}
+	return list
+}
+
+// Package reads a package as `aa 1 essential depends=bb|cc(>=2) pre=dd conflicts=ee,ff(=1) provides=gg,hh files=a,b/c`; each depends and each pre is one clause.
+func Package(text string) api.Package {
+	words := strings.Fields(text)
+	p := api.Package{Name: words[0], Version: words[1]}
+	for _, word := range words[2:] {
+		what, value, _ := strings.Cut(word, "=")
+		switch what {
+		case "essential":
+			p.Essential = true
+		case "depends":
+			p.Depends = append(p.Depends, Must(relation.ParseClause(value)))
+		case "pre":
+			p.PreDepends = append(p.PreDepends, Must(relation.ParseClause(value)))
+		case "conflicts":
+			p.Conflicts = Must(relation.ParseAtoms(value))
+		case "provides":
+			p.Provides = strings.Split(value, ",")
+		case "files":
+			for _, path := range strings.Split(value, ",") {
+				p.Files = append(p.Files, api.File{Path: path})
+			}
+		default:
+			panic(word)
+		}
+	}
+	return p
+}
+
+// Wishes reads wishes with `; ` between them.
+func Wishes(text string) []api.Wish {
+	var list []api.Wish
+	for _, part := range Parts(text) {
+		list = append(list, Wish(part))
+	}
+	return list
+}
+
+// Wish reads a wish as `install aa(>=2)`, `remove aa` or `upgrade`.
+func Wish(text string) api.Wish {
+	what, atom, _ := strings.Cut(text, " ")
+	kind := slices.Index([]string{api.WishInstall: "install", api.WishRemove: "remove", api.WishUpgrade: "upgrade"}, what)
+	if kind == api.WishUpgrade {
+		return api.Wish{Kind: kind}
+	}
+	return api.Wish{Kind: kind, Atom: Must(relation.ParseAtom(atom))}
+}
