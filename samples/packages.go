@@ -23,55 +23,32 @@ func Full(name, version string) api.Package {
 // RoomyPackage tells a copy of a package whose lists have room beyond their ends, as Roomy makes it.
 func RoomyPackage(p api.Package) api.Package {
 	beyond := api.Atom{Name: "beyond"}
-	p.Depends = roomyClauses(p.Depends, beyond)
-	p.PreDepends = roomyClauses(p.PreDepends, beyond)
+	p.Depends = RoomyRows(p.Depends, beyond)
+	p.PreDepends = RoomyRows(p.PreDepends, beyond)
 	p.Conflicts = Roomy(p.Conflicts, beyond)
 	p.Provides = Roomy(p.Provides, "beyond")
 	p.Files = Roomy(p.Files, api.File{Path: "beyond"})
 	return p
 }
 
-func roomyClauses(list []api.Clause, beyond api.Atom) []api.Clause {
-	copied := make([]api.Clause, len(list))
-	for i, c := range list {
-		copied[i] = Roomy(c, beyond)
-	}
-	return Roomy(copied, api.Clause{beyond})
-}
-
 // Extent tells a copy of all that a package's lists have room for, to be held against what they have later.
 func Extent(p api.Package) api.Package {
-	p.Depends = extentOfClauses(p.Depends)
-	p.PreDepends = extentOfClauses(p.PreDepends)
+	p.Depends = RoomOfRows(p.Depends)
+	p.PreDepends = RoomOfRows(p.PreDepends)
 	p.Conflicts = Room(p.Conflicts)
 	p.Provides = Room(p.Provides)
 	p.Files = Room(p.Files)
 	return p
 }
 
-func extentOfClauses(list []api.Clause) []api.Clause {
-	copied := Room(list)
-	for i, c := range copied {
-		copied[i] = Room(c)
-	}
-	return copied
-}
-
 // Spoil writes over all that a package's lists have room for.
 func Spoil(p api.Package) {
 	bad := api.Atom{Name: "spoiled"}
-	spoilClauses(p.Depends, bad)
-	spoilClauses(p.PreDepends, bad)
+	FillRows(p.Depends, bad)
+	FillRows(p.PreDepends, bad)
 	Fill(p.Conflicts, bad)
 	Fill(p.Provides, "spoiled")
 	Fill(p.Files, api.File{Path: "spoiled"})
-}
-
-func spoilClauses(list []api.Clause, bad api.Atom) {
-	for _, c := range list[:cap(list)] {
-		Fill(c, bad)
-	}
-	Fill(list, api.Clause{bad})
 }
 
 // LongDepends tells a Depends that prints to so many bytes, of some millions.

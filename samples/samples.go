@@ -47,3 +47,29 @@ func Fill[T any](list []T, bad T) {
 		room[i] = bad
 	}
 }
+
+// RoomyRows tells a copy of some lists that have room as Roomy makes it, each of them and the list of them.
+func RoomyRows[R ~[]T, T any](rows []R, beyond T) []R {
+	copied := make([]R, len(rows))
+	for i, row := range rows {
+		copied[i] = Roomy(row, beyond)
+	}
+	return Roomy(copied, R{beyond})
+}
+
+// RoomOfRows tells a copy of all that some lists have room for.
+func RoomOfRows[R ~[]T, T any](rows []R) []R {
+	copied := Room(rows)
+	for i, row := range copied {
+		copied[i] = Room(row)
+	}
+	return copied
+}
+
+// FillRows writes over all that some lists have room for.
+func FillRows[R ~[]T, T any](rows []R, bad T) {
+	for _, row := range rows[:cap(rows)] {
+		Fill(row, bad)
+	}
+	Fill(rows, R{bad})
+}

@@ -45,3 +45,21 @@ func TestRoom(t *testing.T) {
 		t.Errorf("Room = %v, filled %v", copied, list[:cap(list)])
 	}
 }
+
+func TestRows(t *testing.T) {
+	same := func(a, b [][]int) bool { return slices.EqualFunc(a, b, slices.Equal) }
+	list := [][]int{{1, 2}, nil}
+	rows := samples.RoomyRows(list, 9)
+	copied := samples.RoomOfRows(rows)
+	if !same(rows, list) || !same(copied, [][]int{{1, 2, 9, 9}, {9, 9}, {9}, {9}}) {
+		t.Errorf("RoomyRows = %v, RoomOfRows = %v", rows, copied)
+	}
+	first := rows[0]
+	samples.FillRows(rows, 5)
+	if !slices.Equal(first[:cap(first)], []int{5, 5, 5, 5}) || !same(rows[:cap(rows)], [][]int{{5}, {5}, {5}, {5}}) {
+		t.Errorf("FillRows: %v, %v", first[:cap(first)], rows[:cap(rows)])
+	}
+	if !same(copied, [][]int{{1, 2, 9, 9}, {9, 9}, {9}, {9}}) || !slices.Equal(list[0], []int{1, 2}) {
+		t.Error("copies share memory")
+	}
+}

@@ -18,28 +18,17 @@ type given struct {
 }
 
 func roomy(clauses lists, prefer []int, values []bool) given {
-	var list lists
-	for _, clause := range clauses {
-		list = append(list, samples.Roomy(clause, 77))
-	}
-	return given{samples.Roomy(list, []int{77}), samples.Roomy(prefer, 77), samples.Roomy(values, true)}
+	return given{samples.RoomyRows(clauses, 77), samples.Roomy(prefer, 77), samples.Roomy(values, true)}
 }
 
 // room tells a copy of all that has room there.
 func (g given) room() given {
-	copied := given{samples.Room(g.clauses), samples.Room(g.prefer), samples.Room(g.values)}
-	for i, clause := range copied.clauses {
-		copied.clauses[i] = samples.Room(clause)
-	}
-	return copied
+	return given{samples.RoomOfRows(g.clauses), samples.Room(g.prefer), samples.Room(g.values)}
 }
 
 // spoil writes over all that has room there.
 func (g given) spoil() {
-	for _, clause := range g.clauses {
-		samples.Fill(clause, 1)
-	}
-	samples.Fill(g.clauses, []int{})
+	samples.FillRows(g.clauses, 1)
 	samples.Fill(g.prefer, 1)
 	samples.Fill(g.values, true)
 }
