@@ -6,6 +6,7 @@ import (
 
 	"larder/api"
 	"larder/control"
+	"larder/copies"
 )
 
 // Sorted puts packages in order.
@@ -18,7 +19,7 @@ func Sorted(ps []api.Package) ([]api.Package, api.Errno) {
 			return nil, e
 		}
 	}
-	list := copyAll(ps)
+	list := copies.Packages(ps)
 	sortBy(list, nameOf, versionOf)
 	for i := range list {
 		if standing(list, i) != api.OK {
@@ -76,29 +77,3 @@ func orderBy[T any, M cmp.Ordered](a, b T, marks ...func(T) M) int {
 func nameOf(p api.Package) string { return p.Name }
 
 func versionOf(p api.Package) string { return p.Version }
-
-// copyAll tells the same packages in memory of their own.
-func copyAll(ps []api.Package) []api.Package {
-	list := make([]api.Package, len(ps))
-	for i, p := range ps {
-		list[i] = copyOf(p)
-	}
-	return list
-}
-
-func copyOf(p api.Package) api.Package {
-	p.Depends = copyClauses(p.Depends)
-	p.PreDepends = copyClauses(p.PreDepends)
-	p.Conflicts = slices.Clone(p.Conflicts)
-	p.Provides = slices.Clone(p.Provides)
-	p.Files = slices.Clone(p.Files)
-	return p
-}
-
-func copyClauses(clauses []api.Clause) []api.Clause {
-	list := slices.Clone(clauses)
-	for i, c := range list {
-		list[i] = slices.Clone(c)
-	}
-	return list
-}

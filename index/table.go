@@ -5,6 +5,7 @@ import (
 	"slices"
 
 	"larder/api"
+	"larder/copies"
 	"larder/debver"
 	"larder/relation"
 )
@@ -24,7 +25,7 @@ func New(u []api.Package) (*Table, api.Errno) {
 		return nil, e
 	}
 	t := &Table{
-		packages: copyAll(u),
+		packages: copies.Packages(u),
 		places:   placesOf(u),
 		named:    make(map[string][]int),
 		provided: make(map[string][]int),
@@ -71,7 +72,7 @@ func (t *Table) At(i int) (api.Package, bool) {
 	if i < 0 || i >= t.Len() {
 		return api.Package{}, false
 	}
-	return copyOf(t.packages[i]), true
+	return copies.Package(t.packages[i]), true
 }
 
 // Find tells a package's place.

@@ -56,3 +56,35 @@ func SpoilHeld(held []api.Held) {
 	}
 	Fill(held, api.Held{Package: odd("spoiled"), Mark: 7})
 }
+
+// RoomyState tells a copy of a state whose lists have room beyond their ends.
+func RoomyState(s api.State) api.State {
+	s.Held, s.Before = RoomyHeld(s.Held), RoomyHeld(s.Before)
+	s.Past = Roomy(s.Past, api.Entry{Seq: 7, Group: 7})
+	beyond := api.Key{Name: "beyond", Version: "1"}
+	for i, entry := range s.Past {
+		s.Past[i].Out, s.Past[i].In = Roomy(entry.Out, beyond), Roomy(entry.In, beyond)
+	}
+	return s
+}
+
+// ExtentOfState tells a copy of all that a state has room for.
+func ExtentOfState(s api.State) api.State {
+	s.Held, s.Before = ExtentOfHeld(s.Held), ExtentOfHeld(s.Before)
+	s.Past = Room(s.Past)
+	for i, entry := range s.Past {
+		s.Past[i].Out, s.Past[i].In = Room(entry.Out), Room(entry.In)
+	}
+	return s
+}
+
+// SpoilState writes over all that a state has room for.
+func SpoilState(s api.State) {
+	SpoilHeld(s.Held)
+	SpoilHeld(s.Before)
+	for _, entry := range s.Past[:cap(s.Past)] {
+		Fill(entry.Out, api.Key{Name: "spoiled"})
+		Fill(entry.In, api.Key{Name: "spoiled"})
+	}
+	Fill(s.Past, api.Entry{Seq: 9, Group: 9})
+}

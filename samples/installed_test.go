@@ -48,3 +48,27 @@ func TestRoomyHeld(t *testing.T) {
 		t.Error("copies share memory")
 	}
 }
+
+func TestRoomyState(t *testing.T) {
+	held := []api.Held{{Package: samples.Full("aa", "1"), Mark: api.MarkAuto}}
+	keys := []api.Key{{Name: "aa", Version: "1"}}
+	full := func() api.State {
+		return api.State{Seq: 2, Group: 1, Held: held, Before: held, Past: []api.Entry{{Seq: 2, Group: 1, Out: keys, In: keys}}}
+	}
+	s := samples.RoomyState(full())
+	if s.Seq != 2 || s.Group != 1 || len(s.Held) != 1 || len(s.Past) != 1 || !reflect.DeepEqual(s.Past[0].Out, keys) || s.Past[0].In[:2][1].Name != "beyond" || s.Before[:2][1].Mark != 7 {
+		t.Errorf("RoomyState = %+v", s)
+	}
+	extent := samples.ExtentOfState(s)
+	if len(extent.Held) != 3 || len(extent.Before) != 3 || len(extent.Past) != 3 || len(extent.Past[0].Out) != 3 || len(extent.Held[0].Provides) != 4 {
+		t.Errorf("ExtentOfState = %+v", extent)
+	}
+	entry := s.Past[0]
+	samples.SpoilState(s)
+	if s.Held[:2][1].Name != "spoiled" || s.Before[0].Name != "spoiled" || s.Past[:3][2].Seq != 9 || entry.Out[0].Name != "spoiled" || entry.In[:3][2].Name != "spoiled" {
+		t.Errorf("SpoilState: %+v, %+v", s, entry)
+	}
+	if !reflect.DeepEqual(full(), api.State{Seq: 2, Group: 1, Held: []api.Held{{Package: samples.Full("aa", "1"), Mark: api.MarkAuto}}, Before: held, Past: []api.Entry{{Seq: 2, Group: 1, Out: []api.Key{{Name: "aa", Version: "1"}}, In: keys}}}) || reflect.DeepEqual(extent, samples.ExtentOfState(s)) {
+		t.Error("copies share memory")
+	}
+}

@@ -6,6 +6,7 @@ import (
 
 	"larder/api"
 	"larder/control"
+	"larder/copies"
 )
 
 // ledger is a state that may be, into which commits that may be are entered one by one. (A commit takes as long as it has parts, however much is held: a journal may have thousands of them.)
@@ -124,7 +125,7 @@ func (l *ledger) before() map[string]api.Held {
 
 // state tells the state, in memory of its own.
 func (l *ledger) state() api.State {
-	return copied(api.State{Seq: l.seq, Held: byName(l.held), Group: l.group, Before: byName(l.before()), Past: l.past})
+	return copies.State(api.State{Seq: l.seq, Held: byName(l.held), Group: l.group, Before: byName(l.before()), Past: l.past})
 }
 
 func byName(held map[string]api.Held) []api.Held {

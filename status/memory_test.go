@@ -48,41 +48,6 @@ func apart(things ...any) bool {
 	return true
 }
 
-func roomyKeys(keys []api.Key) []api.Key {
-	return samples.Roomy(keys, api.Key{Name: "beyond", Version: "1"})
-}
-
-// roomyState tells a copy of a state whose lists have room beyond their ends.
-func roomyState(s api.State) api.State {
-	s.Held, s.Before = samples.RoomyHeld(s.Held), samples.RoomyHeld(s.Before)
-	s.Past = samples.Roomy(s.Past, api.Entry{Seq: 7, Group: 7})
-	for i, entry := range s.Past {
-		s.Past[i].Out, s.Past[i].In = roomyKeys(entry.Out), roomyKeys(entry.In)
-	}
-	return s
-}
-
-// extentOfState tells a copy of all that a state has room for.
-func extentOfState(s api.State) api.State {
-	s.Held, s.Before = samples.ExtentOfHeld(s.Held), samples.ExtentOfHeld(s.Before)
-	s.Past = samples.Room(s.Past)
-	for i, entry := range s.Past {
-		s.Past[i].Out, s.Past[i].In = samples.Room(entry.Out), samples.Room(entry.In)
-	}
-	return s
-}
-
-// spoilState writes over all that a state has room for.
-func spoilState(s api.State) {
-	samples.SpoilHeld(s.Held)
-	samples.SpoilHeld(s.Before)
-	for _, entry := range s.Past[:cap(s.Past)] {
-		samples.Fill(entry.Out, api.Key{Name: "spoiled"})
-		samples.Fill(entry.In, api.Key{Name: "spoiled"})
-	}
-	samples.Fill(s.Past, api.Entry{Seq: 9, Group: 9})
-}
-
 func roomyCommit(c api.Commit) api.Commit {
 	c.Out, c.Marks = samples.Roomy(c.Out, "beyond"), samples.Roomy(c.Marks, "beyond")
 	c.In, c.Steps = samples.RoomyHeld(c.In), samples.Roomy(c.Steps, api.Step{Kind: 7})
@@ -124,21 +89,21 @@ func fullCommits() []api.Commit {
 func TestMemoryOfApply(t *testing.T) {
 	t.Parallel()
 	for _, commit := range fullCommits() {
-		s, c := roomyState(fullState()), roomyCommit(commit)
-		aheadState, aheadCommit := told(extentOfState(s)), told(extentOfCommit(c))
+		s, c := samples.RoomyState(fullState()), roomyCommit(commit)
+		aheadState, aheadCommit := told(samples.ExtentOfState(s)), told(extentOfCommit(c))
 		want := stateBehind(fullState(), commit)
 		got, e := status.Apply(s, c)
 		status.Fits(s, c)
 		if e != api.OK || told(got) != told(want) {
 			t.Fatalf("P16.2: Apply = %s, %d, want %s", told(got), e, told(want))
 		}
-		if told(extentOfState(s)) != aheadState || told(extentOfCommit(c)) != aheadCommit {
+		if told(samples.ExtentOfState(s)) != aheadState || told(extentOfCommit(c)) != aheadCommit {
 			t.Error("P16.2: what was handed to Apply is changed")
 		}
 		if !apart(got, s, c) {
 			t.Error("P16.2: what Apply answers shares memory")
 		}
-		spoilState(s)
+		samples.SpoilState(s)
 		spoilCommit(c)
 		if told(got) != told(want) {
 			t.Errorf("P16.2: what Apply answered changes later: %s", told(got))
@@ -155,17 +120,17 @@ func TestMemoryOfApply(t *testing.T) {
 // Memory: bodies.
 func TestMemoryOfBodies(t *testing.T) {
 	t.Parallel()
-	s, c := roomyState(fullState()), roomyCommit(fullCommits()[0])
-	aheadState, aheadCommit := told(extentOfState(s)), told(extentOfCommit(c))
+	s, c := samples.RoomyState(fullState()), roomyCommit(fullCommits()[0])
+	aheadState, aheadCommit := told(samples.ExtentOfState(s)), told(extentOfCommit(c))
 	status.Check(s)
 	status.CheckCommit(c)
 	status.Same(s, s)
 	stateBody, _ := status.Encode(s)
 	commitBody, _ := status.EncodeCommit(c)
-	if told(extentOfState(s)) != aheadState || told(extentOfCommit(c)) != aheadCommit {
+	if told(samples.ExtentOfState(s)) != aheadState || told(extentOfCommit(c)) != aheadCommit {
 		t.Error("P16.1: what was handed in is changed")
 	}
-	spoilState(s)
+	samples.SpoilState(s)
 	spoilCommit(c)
 	if string(stateBody) != stateBytes(fullState()) || string(commitBody) != commitBytes(fullCommits()[0]) {
 		t.Error("P16.1: bodies change later")
@@ -233,13 +198,13 @@ func TestEmpty(t *testing.T) {
 func TestMemoryOfDisk(t *testing.T) {
 	t.Parallel()
 	for _, commit := range fullCommits() {
-		s := roomyState(fullState())
-		ahead := told(extentOfState(s))
+		s := samples.RoomyState(fullState())
+		ahead := told(samples.ExtentOfState(s))
 		d := disk(nil, room)
-		if e := status.Save(d, s); e != api.OK || told(extentOfState(s)) != ahead {
+		if e := status.Save(d, s); e != api.OK || told(samples.ExtentOfState(s)) != ahead {
 			t.Fatalf("P16.4: Save = %d, or changes the state", e)
 		}
-		spoilState(s)
+		samples.SpoilState(s)
 		d.Write("d/journal", []byte(commitFrames(commit)))
 		want := stateBehind(fullState(), commit)
 		got, last, _, e := status.Load(d)
@@ -250,7 +215,7 @@ func TestMemoryOfDisk(t *testing.T) {
 		if !apart(got, last, again, lastAgain) {
 			t.Error("P16.3: what Load answers shares memory")
 		}
-		spoilState(got)
+		samples.SpoilState(got)
 		if told(last) != told(commit) || told(again) != told(want) {
 			t.Error("P16.3: what Load answered changes with the state")
 		}
