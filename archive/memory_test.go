@@ -11,51 +11,18 @@ import (
 	"larder/samples"
 )
 
-// roomyFiles tells a copy of files with room beyond all ends.
-func roomyFiles(files []api.Blob) []api.Blob {
-	copied := make([]api.Blob, len(files))
-	for i, f := range files {
-		copied[i] = api.Blob{Name: f.Name, Data: samples.Roomy(f.Data, 0xee)}
-	}
-	return samples.Roomy(copied, api.Blob{Name: "beyond"})
-}
-
-// extentOfFiles tells a copy of all that files have room for.
-func extentOfFiles(files []api.Blob) []api.Blob {
-	copied := append([]api.Blob{}, files[:cap(files)]...)
-	for i, f := range copied {
-		copied[i].Data = append([]byte{}, f.Data[:cap(f.Data)]...)
-	}
-	return copied
-}
-
-// spoilBytes writes over all that a text has room for.
-func spoilBytes(data []byte) {
-	for i := range data[:cap(data)] {
-		data[:cap(data)][i] = 0x5a
-	}
-}
-
-func spoilFiles(files []api.Blob) {
-	for i, f := range files {
-		spoilBytes(f.Data)
-		files[i] = api.Blob{Name: "spoiled"}
-	}
-	_ = append(files, api.Blob{Name: "spoiled"})
-}
-
 // Memory: nothing writes into what it was given, nor into its room beyond the end; what is answered shares nothing with it.
 func TestArguments(t *testing.T) {
 	p, files := whole()
-	roomyPackage, given := samples.RoomyPackage(p), roomyFiles(files)
-	packageBefore, filesBefore := samples.Extent(roomyPackage), extentOfFiles(given)
+	roomyPackage, given := samples.RoomyPackage(p), samples.RoomyBlobs(files)
+	packageBefore, filesBefore := samples.Extent(roomyPackage), samples.ExtentOfBlobs(given)
 	tar, _ := archive.Tar(given)
 	list, _ := archive.Manifest(given)
 	data, e := archive.Build(roomyPackage, given)
-	if e != api.OK || !reflect.DeepEqual(samples.Extent(roomyPackage), packageBefore) || !reflect.DeepEqual(extentOfFiles(given), filesBefore) {
+	if e != api.OK || !reflect.DeepEqual(samples.Extent(roomyPackage), packageBefore) || !reflect.DeepEqual(samples.ExtentOfBlobs(given), filesBefore) {
 		t.Fatalf("Memory: Tar, Manifest or Build write into what they were given (%d)", e)
 	}
-	spoilFiles(given)
+	samples.SpoilBlobs(given)
 	samples.Spoil(roomyPackage)
 	if !bytes.Equal(tar, tarOf(files)) || !reflect.DeepEqual(list, of(files)) {
 		t.Error("Memory: what is written into files changes their ustar or manifest")
@@ -64,7 +31,7 @@ func TestArguments(t *testing.T) {
 	if !bytes.Equal(data, whole) {
 		t.Error("Memory: what is written into a package or files changes their archive")
 	}
-	spoilBytes(data)
+	samples.Fill(data, 0x5a)
 	if again, _ := archive.Build(p, files); !bytes.Equal(again, whole) {
 		t.Error("Memory: what is written into an archive changes another")
 	}
@@ -87,13 +54,13 @@ func TestTexts(t *testing.T) {
 	if !bytes.Equal(data[:cap(data)], before) || !bytes.Equal(tar[:cap(tar)], tarBefore) || !reflect.DeepEqual(samples.Extent(known), knownBefore) {
 		t.Fatal("Memory: Untar, Read or Check write into what they were given")
 	}
-	spoilBytes(data)
-	spoilBytes(tar)
+	samples.Fill(data, 0x5a)
+	samples.Fill(tar, 0x5a)
 	samples.Spoil(known)
 	if !sameFiles(untarred, files) || !sameFiles(read, files) || !sameFiles(checked, files) || !control.Same(q, p) {
 		t.Error("Memory: what is written into a text changes what was read")
 	}
-	spoilFiles(read)
+	samples.SpoilBlobs(read)
 	if !sameFiles(checked, files) || !control.Same(q, p) {
 		t.Error("Memory: what is written into files that were read changes others")
 	}
@@ -104,7 +71,7 @@ func TestFilesApart(t *testing.T) {
 	_, files := whole()
 	found, _ := archive.Untar(tarOf(files))
 	for i := range found {
-		spoilBytes(found[i].Data)
+		samples.Fill(found[i].Data, 0x5a)
 		found[i].Data = append(found[i].Data, 0x5a)
 		for j := i + 1; j < len(found); j++ {
 			if !bytes.Equal(found[j].Data, files[j].Data) {

@@ -4,11 +4,11 @@ import (
 	"slices"
 
 	"larder/api"
+	"larder/installed"
 	"larder/journal"
 	"larder/status"
 	"larder/store"
 	"larder/tree"
-	"larder/valid"
 )
 
 // batch is a work over a state, with all that carrying it out takes.
@@ -27,7 +27,7 @@ func batchOf(s api.State, w api.Work) (batch, api.Errno) {
 	}
 	c := commitOf(s, w)
 	behind, e := status.Apply(s, c)
-	if e != api.OK || !isValid(behind.Held) || !hasContents(w) || !canMend(s, w) || isEmpty(w) {
+	if e != api.OK || !installed.Valid(behind.Held) || !hasContents(w) || !canMend(s, w) || isEmpty(w) {
 		return batch{}, api.ErrExeWork
 	}
 	c.Steps = stepsOf(c.Seq, s, w)
@@ -54,16 +54,6 @@ func commitOf(s api.State, w api.Work) api.Commit {
 }
 
 func isEmpty(w api.Work) bool { return len(w.Out)+len(w.In)+len(w.Marks)+len(w.Mend) == 0 }
-
-func isValid(held []api.Held) bool { return valid.Valid(packagesOf(held)) }
-
-func packagesOf(held []api.Held) []api.Package {
-	list := make([]api.Package, len(held))
-	for i, h := range held {
-		list[i] = h.Package
-	}
-	return list
-}
 
 func filesOf(held []api.Held) []api.File {
 	var files []api.File
@@ -126,7 +116,7 @@ func contentsOf(w api.Work) [][]byte {
 // stepsOf tells the steps of a work that has no fault: what is laid anew stands behind all that goes and comes, and is staged behind it. (Its paths are those of packages, its numbers are few: no name is refused.)
 func stepsOf(seq int, s api.State, w api.Work) []api.Step {
 	goes, _ := parted(s, w)
-	steps, _ := tree.Steps(seq, packagesOf(goes), packagesOf(w.In))
+	steps, _ := tree.Steps(seq, installed.Packages(goes), installed.Packages(w.In))
 	for i, b := range w.Mend {
 		from, _ := tree.Staged(seq, len(w.Files)+i)
 		to, _ := tree.Name(b.Name)

@@ -9,6 +9,7 @@ import (
 
 	"larder/api"
 	"larder/exec"
+	"larder/installed"
 	"larder/samples"
 	"larder/status"
 	"larder/store"
@@ -41,7 +42,7 @@ func holdWhole(t *testing.T, what string, d *store.Store, states []api.State, le
 // holdTree holds that a store has just the files of a state, and nothing that is left over.
 func holdTree(t *testing.T, what string, d *store.Store, s api.State) {
 	t.Helper()
-	missing, changed, extra, e := tree.Differ(d, samples.Must(tree.Manifest(packagesOf(s.Held))))
+	missing, changed, extra, e := tree.Differ(d, samples.Must(tree.Manifest(installed.Packages(s.Held))))
 	if e != api.OK || len(missing)+len(changed)+len(extra) > 0 {
 		t.Fatalf("P18.7: %s: the tree lacks %q, has changed %q, has %q besides", what, missing, changed, extra)
 	}
@@ -67,7 +68,7 @@ func (s story) plan() []api.State {
 	states := []api.State{m.state}
 	for _, line := range s {
 		if isWork(line) {
-			samples.Must(0, m.run(workOf(line)))
+			samples.Must(0, m.run(samples.Work(line)))
 			states = append(states, m.state)
 		}
 	}
@@ -106,7 +107,7 @@ func (s story) play(t *testing.T, what string, d *store.Store, x *exec.Exec) (in
 			e = x.Checkpoint()
 			isWrong = e != api.OK
 		} else {
-			e = x.Run(workOf(text))
+			e = x.Run(samples.Work(text))
 			isWrong = refused == (e == api.OK)
 		}
 		if e == api.ErrStoDead {
@@ -256,7 +257,7 @@ func (s story) goOn(t *testing.T, what string, d *store.Store, x *exec.Exec, sta
 func TestCommitted(t *testing.T) {
 	t.Parallel()
 	ahead, states := play(base...)
-	w := workOf("out dd; in ee 1 a:12 b:345; mend p:1")
+	w := samples.Work("out dd; in ee 1 a:12 b:345; mend p:1")
 	state := states[len(states)-1]
 	both := []api.State{state, samples.Must(status.Apply(state, commitOf(state, w)))}
 	_, frame := needs(state, w)
@@ -304,7 +305,7 @@ func TestStagedAndCutOff(t *testing.T) {
 			d := samples.Must(store.Load(ahead.Image(), room))
 			x := samples.Must(exec.Open(d))
 			d.Fuse(fuse)
-			x.Run(workOf("in bb 1 y:222 z:333"))
+			x.Run(samples.Work("in bb 1 y:222 z:333"))
 			d.Crash(api.Choice{Kept: kept})
 			y, e := exec.Open(d)
 			if e != api.OK || y.State().Seq > 2 {
@@ -313,7 +314,7 @@ func TestStagedAndCutOff(t *testing.T) {
 			if y.State().Seq == 2 {
 				continue
 			}
-			if e := y.Run(workOf("in cc 1 z:4")); e != api.OK {
+			if e := y.Run(samples.Work("in cc 1 z:4")); e != api.OK {
 				t.Fatalf("P18.7: Run = %d", e)
 			}
 			holdTree(t, fmt.Sprintf("power for %d calls, kept %v", fuse, kept), d, y.State())
@@ -325,7 +326,7 @@ func TestStagedAndCutOff(t *testing.T) {
 func TestCutOffWhileFull(t *testing.T) {
 	t.Parallel()
 	ahead, states := play(base...)
-	w := workOf("in ee 1 a:12 b:345; mend p:1")
+	w := samples.Work("in ee 1 a:12 b:345; mend p:1")
 	calls := 0
 	for fuse := range 8 {
 		for _, kept := range samples.Lists([]int{0, 1, 3}, 4) {

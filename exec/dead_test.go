@@ -13,13 +13,13 @@ import (
 // holdOver holds that an Exec is over, whatever its store is.
 func holdOver(t *testing.T, what string, x *exec.Exec, d *store.Store, state api.State, frames int) {
 	t.Helper()
-	was := diskTold(d)
-	for _, works := range [][]api.Work{nil, {workOf("mark aa")}, {workOf("out zz")}} {
+	was := samples.Told(d)
+	for _, works := range [][]api.Work{nil, {samples.Work("mark aa")}, {samples.Work("out zz")}} {
 		if e := x.Check(works); e != api.ErrStoDead {
 			t.Errorf("P18.3: %s: Check = %d", what, e)
 		}
 	}
-	for _, w := range []api.Work{workOf("mark aa"), workOf("out zz"), {}} {
+	for _, w := range []api.Work{samples.Work("mark aa"), samples.Work("out zz"), {}} {
 		if e := x.Run(w); e != api.ErrStoDead {
 			t.Errorf("P18.4: %s: Run = %d", what, e)
 		}
@@ -27,7 +27,7 @@ func holdOver(t *testing.T, what string, x *exec.Exec, d *store.Store, state api
 	if e := x.Checkpoint(); e != api.ErrStoDead {
 		t.Errorf("P18.5: %s: Checkpoint = %d", what, e)
 	}
-	if !x.Dead() || x.Frames() != frames || told(x.State()) != told(state) || diskTold(d) != was {
+	if !x.Dead() || x.Frames() != frames || told(x.State()) != told(state) || samples.Told(d) != was {
 		t.Errorf("P18.2: %s: Dead = %v, %d frames, want %d, or another state", what, x.Dead(), x.Frames(), frames)
 	}
 }
@@ -45,11 +45,11 @@ func TestOver(t *testing.T) {
 		calls    int
 		frame    int // behind which call there is one frame more
 	}{
-		{"a batch", room, func(x *exec.Exec) api.Errno { return x.Run(workOf("out dd; in ee 1 a:1; mend p:1")) }, api.OK, 9, 3},
-		{"a batch without room", api.Reserve, func(x *exec.Exec) api.Errno { return x.Run(workOf("in ee 1 a:1; mend p:1")) }, api.ErrExeFull, 6, 99},
-		{"a batch without room for its files", d.Used(), func(x *exec.Exec) api.Errno { return x.Run(workOf("in ee 1 a:; mend p:1")) }, api.ErrExeFull, 3, 99},
-		{"a mark", room, func(x *exec.Exec) api.Errno { return x.Run(workOf("mark aa")) }, api.OK, 4, 1},
-		{"a mark without room", 0, func(x *exec.Exec) api.Errno { return x.Run(workOf("mark aa")) }, api.ErrExeFull, 2, 99},
+		{"a batch", room, func(x *exec.Exec) api.Errno { return x.Run(samples.Work("out dd; in ee 1 a:1; mend p:1")) }, api.OK, 9, 3},
+		{"a batch without room", api.Reserve, func(x *exec.Exec) api.Errno { return x.Run(samples.Work("in ee 1 a:1; mend p:1")) }, api.ErrExeFull, 6, 99},
+		{"a batch without room for its files", d.Used(), func(x *exec.Exec) api.Errno { return x.Run(samples.Work("in ee 1 a:; mend p:1")) }, api.ErrExeFull, 3, 99},
+		{"a mark", room, func(x *exec.Exec) api.Errno { return x.Run(samples.Work("mark aa")) }, api.OK, 4, 1},
+		{"a mark without room", 0, func(x *exec.Exec) api.Errno { return x.Run(samples.Work("mark aa")) }, api.ErrExeFull, 2, 99},
 		{"a checkpoint", room, func(x *exec.Exec) api.Errno { return x.Checkpoint() }, api.OK, 6, 99},
 	} {
 		for fuse := range c.calls {
@@ -90,10 +90,10 @@ func TestDeadStore(t *testing.T) {
 	d.Sync()
 	holdOver(t, "a store without power", x, d, states[4], 4)
 	d.Crash(api.Choice{})
-	if x.Dead() || x.Check([]api.Work{workOf("mark aa")}) != api.OK || x.Frames() != 4 {
+	if x.Dead() || x.Check([]api.Work{samples.Work("mark aa")}) != api.OK || x.Frames() != 4 {
 		t.Error("P18.2: with power again the Exec is dead")
 	}
-	if e := x.Run(workOf("mark aa")); e != api.OK || x.State().Seq != 5 {
+	if e := x.Run(samples.Work("mark aa")); e != api.OK || x.State().Seq != 5 {
 		t.Errorf("P18.4: with power again: Run = %d", e)
 	}
 	if e := x.Checkpoint(); e != api.OK || x.Frames() != 0 {
@@ -115,13 +115,13 @@ func TestFuseLasts(t *testing.T) {
 			t.Errorf("P18.4: %s: Run = %d, want %d", c.what, e, c.want)
 		}
 	}
-	x.Check([]api.Work{workOf("mark aa")})
+	x.Check([]api.Work{samples.Work("mark aa")})
 	x.State()
 	x.Frames()
 	if _, e := exec.Open(d); e != api.OK || x.Dead() {
 		t.Errorf("P18.1: Open with nothing to do = %d", e)
 	}
-	if e := x.Run(workOf("mark aa")); e != api.ErrStoDead || !x.Dead() {
+	if e := x.Run(samples.Work("mark aa")); e != api.ErrStoDead || !x.Dead() {
 		t.Errorf("P18.4: Run = %d", e)
 	}
 }

@@ -43,12 +43,12 @@ func bodySize(w api.Work) int {
 func longWork(size int) api.Work {
 	const many = 17
 	each := size/many - 1000
-	w := api.Work{Files: blobsOf("x:hi")}
+	w := api.Work{Files: samples.Blobs("x:hi")}
 	for i := range many - 1 {
 		w.In = append(w.In, longPackage(fmt.Sprintf("p%02d", i), each))
 	}
 	w.In = append(w.In, longPackage("zz", each))
-	w.In[many-1].Files = []api.File{file("x", "hi")}
+	w.In[many-1].Files = []api.File{samples.File("x", "hi")}
 	longer := longPackage("zz", each+size-bodySize(w)-100)
 	w.In[many-1].Depends, w.In[many-1].Provides = longer.Depends, longer.Provides
 	w.In[0].Summary = strings.Repeat("s", size-bodySize(w)-len("Description: \n"))
@@ -91,7 +91,7 @@ func TestLongFrame(t *testing.T) {
 // P18.4, P18.8: a store with as many files as it may have.
 func TestManyNames(t *testing.T) {
 	t.Parallel()
-	state := api.State{Seq: 1, Group: 1, Held: []api.Held{heldOf("aa 1")}}
+	state := api.State{Seq: 1, Group: 1, Held: []api.Held{samples.Held("aa 1")}}
 	blobs := []api.Blob{{Name: "d/status", Data: pointOf(state)}}
 	for i := range api.MaxNames - 1 {
 		blobs = append(blobs, api.Blob{Name: fmt.Sprintf("t/%07d", i)})
@@ -107,7 +107,7 @@ func TestManyNames(t *testing.T) {
 	run := func(what, text string, want api.Errno, calls int) {
 		t.Helper()
 		was := d.Calls()
-		if e := x.Run(workOf(text)); e != want || d.Calls()-was != calls || d.Pending() > 0 || len(slices.Collect(d.Names("n/"))) > 0 {
+		if e := x.Run(samples.Work(text)); e != want || d.Calls()-was != calls || d.Pending() > 0 || len(slices.Collect(d.Names("n/"))) > 0 {
 			t.Errorf("P18.4: %s: Run of %q = %d, want %d, with %d calls", what, text, e, want, d.Calls()-was)
 		}
 	}
@@ -135,14 +135,14 @@ func TestManyNames(t *testing.T) {
 // P18.4: as many files as a package may have, one of them as long as one may be.
 func TestManyFiles(t *testing.T) {
 	t.Parallel()
-	h := heldOf("aa 1")
+	h := samples.Held("aa 1")
 	var w api.Work
 	for i := range api.MaxFiles {
 		data := strings.Repeat("x", i%7)
 		if i == 99 {
 			data = strings.Repeat("y", api.MaxFile)
 		}
-		f := file(fmt.Sprintf("d/%04d", i), data)
+		f := samples.File(fmt.Sprintf("d/%04d", i), data)
 		h.Files = append(h.Files, f)
 		w.Files = append(w.Files, api.Blob{Name: f.Path, Data: []byte(data)})
 	}
@@ -170,11 +170,11 @@ func TestManyWorks(t *testing.T) {
 	t.Parallel()
 	d := samples.Must(store.New(room))
 	x := samples.Must(exec.Open(d))
-	if e := x.Run(workOf("in aa 1")); e != api.OK {
+	if e := x.Run(samples.Work("in aa 1")); e != api.OK {
 		t.Fatalf("P18.4: Run = %d", e)
 	}
 	for range api.MaxPast + 3 {
-		if e := x.Run(workOf("mark aa")); e != api.OK {
+		if e := x.Run(samples.Work("mark aa")); e != api.OK {
 			t.Fatalf("P18.4: Run = %d", e)
 		}
 	}

@@ -13,32 +13,16 @@ import (
 func roomyWork(w api.Work) api.Work {
 	w.Out, w.Marks = samples.Roomy(w.Out, "beyond"), samples.Roomy(w.Marks, "beyond")
 	w.In = samples.RoomyHeld(w.In)
-	w.Files, w.Mend = roomyBlobs(w.Files), roomyBlobs(w.Mend)
+	w.Files, w.Mend = samples.RoomyBlobs(w.Files), samples.RoomyBlobs(w.Mend)
 	return w
-}
-
-func roomyBlobs(blobs []api.Blob) []api.Blob {
-	list := samples.Roomy(blobs, api.Blob{Name: "beyond", Data: []byte("beyond")})
-	for i, b := range list {
-		list[i].Data = samples.Roomy(b.Data, '!')
-	}
-	return list
 }
 
 // extentOfWork tells a copy of all that a work has room for.
 func extentOfWork(w api.Work) api.Work {
 	w.Out, w.Marks = samples.Room(w.Out), samples.Room(w.Marks)
 	w.In = samples.ExtentOfHeld(w.In)
-	w.Files, w.Mend = extentOfBlobs(w.Files), extentOfBlobs(w.Mend)
+	w.Files, w.Mend = samples.ExtentOfBlobs(w.Files), samples.ExtentOfBlobs(w.Mend)
 	return w
-}
-
-func extentOfBlobs(blobs []api.Blob) []api.Blob {
-	list := samples.Room(blobs)
-	for i, b := range list {
-		list[i].Data = samples.Room(b.Data)
-	}
-	return list
 }
 
 // spoilWork writes over all that a work has room for.
@@ -46,17 +30,13 @@ func spoilWork(w api.Work) {
 	samples.Fill(w.Out, "spoiled")
 	samples.Fill(w.Marks, "spoiled")
 	samples.SpoilHeld(w.In)
-	for _, blobs := range [][]api.Blob{w.Files, w.Mend} {
-		for _, b := range blobs[:cap(blobs)] {
-			samples.Fill(b.Data, '?')
-		}
-		samples.Fill(blobs, api.Blob{Name: "spoiled"})
-	}
+	samples.SpoilBlobs(w.Files)
+	samples.SpoilBlobs(w.Mend)
 }
 
 // full is a work over base that has all that a work may have, with packages that have all that one may have.
 func full() api.Work {
-	w := workOf("out cc dd; in dd 2 a:1 b:2; in ee 1 c:3 u:4 auto; mark aa bb; mend p:1 q:3; group 3")
+	w := samples.Work("out cc dd; in dd 2 a:1 b:2; in ee 1 c:3 u:4 auto; mark aa bb; mend p:1 q:3; group 3")
 	p := samples.Full("dd", "2")
 	w.In[0].Essential, w.In[0].Archive, w.In[0].Size, w.In[0].Sum, w.In[0].Summary = p.Essential, p.Archive, p.Size, p.Sum, p.Summary
 	w.In[0].Depends = []api.Clause{{{Name: "aa"}, {Name: "zz"}}, {{Name: "bb", Op: api.OpAtLeast, Version: "1"}}}
@@ -72,7 +52,7 @@ func TestMemoryOfWorks(t *testing.T) {
 	d, states := play(base...)
 	p := pairOf(t, d.Image(), room)
 	w := roomyWork(full())
-	works := samples.Roomy([]api.Work{w, roomyWork(workOf("mark aa"))}, api.Work{Group: 7})
+	works := samples.Roomy([]api.Work{w, roomyWork(samples.Work("mark aa"))}, api.Work{Group: 7})
 	was := told(extentOfWork(w))
 	state := samples.RoomyState(states[4])
 	stateWas := told(samples.ExtentOfState(state))
@@ -94,7 +74,7 @@ func TestMemoryOfWorks(t *testing.T) {
 	spoilWork(w)
 	samples.SpoilState(state)
 	p.hold(t, "the work is written over")
-	if e := p.run(t, "the next work", workOf("out ee; in ee 2 c:5; mark dd")); e != api.OK {
+	if e := p.run(t, "the next work", samples.Work("out ee; in ee 2 c:5; mark dd")); e != api.OK {
 		t.Errorf("P18.4: Run = %d", e)
 	}
 	p.checkpoint(t, "the state is written")
@@ -123,7 +103,7 @@ func TestMemoryOfState(t *testing.T) {
 	t.Parallel()
 	d, _ := play(base...)
 	x := samples.Must(exec.Open(d))
-	for _, w := range []api.Work{full(), workOf("mark aa; group 3"), workOf("mark aa")} {
+	for _, w := range []api.Work{full(), samples.Work("mark aa; group 3"), samples.Work("mark aa")} {
 		first, second := x.State(), x.State()
 		want := told(second)
 		if len(first.Held) == 0 || len(first.Past) == 0 || told(first) != want {
@@ -153,7 +133,7 @@ func TestEmpty(t *testing.T) {
 	d, _ := play(base...)
 	for _, text := range []string{"mark aa", "out bb", "in ee 1", "mend p:1"} {
 		p := pairOf(t, d.Image(), room)
-		w := workOf(text)
+		w := samples.Work(text)
 		if w.Out == nil {
 			w.Out = []string{}
 		}
@@ -169,7 +149,7 @@ func TestEmpty(t *testing.T) {
 		if w.Mend == nil {
 			w.Mend = []api.Blob{}
 		}
-		if e, f := p.x.Run(w), p.m.run(workOf(text)); e != api.OK || f != api.OK {
+		if e, f := p.x.Run(w), p.m.run(samples.Work(text)); e != api.OK || f != api.OK {
 			t.Errorf("P18.4: %s: Run = %d, %d", text, e, f)
 		}
 		p.hold(t, text)
@@ -178,7 +158,7 @@ func TestEmpty(t *testing.T) {
 	if e := p.x.Check([]api.Work{}); e != api.OK {
 		t.Errorf("P18.3: Check of no works = %d", e)
 	}
-	w := workOf("in aa 1 x: y:")
+	w := samples.Work("in aa 1 x: y:")
 	w.Files[0].Data = nil
 	if e := p.run(t, "no bytes", w); e != api.OK {
 		t.Errorf("P18.4: Run = %d", e)
@@ -191,14 +171,14 @@ func TestSameAgain(t *testing.T) {
 	a, b := samples.Must(store.New(room)), samples.Must(store.New(room))
 	x, y := samples.Must(exec.Open(a)), samples.Must(exec.Open(b))
 	for _, text := range base {
-		if e, f := x.Run(workOf(text)), y.Run(roomyWork(workOf(text))); e != api.OK || f != api.OK {
+		if e, f := x.Run(samples.Work(text)), y.Run(roomyWork(samples.Work(text))); e != api.OK || f != api.OK {
 			t.Fatalf("P18.4: Run = %d, %d", e, f)
 		}
 	}
 	if e, f := x.Run(full()), y.Run(roomyWork(full())); e != api.OK || f != api.OK {
 		t.Fatalf("P18.4: Run = %d, %d", e, f)
 	}
-	if diskTold(a) != diskTold(b) || told(x.State()) != told(y.State()) {
+	if samples.Told(a) != samples.Told(b) || told(x.State()) != told(y.State()) {
 		t.Error("P18.4: two stores come apart")
 	}
 }

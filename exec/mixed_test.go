@@ -70,8 +70,8 @@ func mixedWork(r *rand.Rand, s api.State, files map[string]string) api.Work {
 	for _, name := range some(r, names, 3) {
 		if !held[name] || r.IntN(30) == 0 {
 			text := mixedPackage(r, name)
-			w.In = append(w.In, heldOf(text))
-			w.Files = append(w.Files, blobsOf(text)...)
+			w.In = append(w.In, samples.Held(text))
+			w.Files = append(w.Files, samples.Blobs(text)...)
 		}
 	}
 	if r.IntN(2) == 0 {
@@ -141,7 +141,7 @@ func (w *way) step(i int) {
 		}
 		return
 	}
-	work := mixedWork(w.r, ahead, filesOf(w.d))
+	work := mixedWork(w.r, ahead, samples.Seen(w.d))
 	if w.x.Check([]api.Work{work}) != w.m.check([]api.Work{work}) {
 		w.t.Fatalf("P18.3: %s: Check = %d", what, w.x.Check([]api.Work{work}))
 	}
@@ -185,7 +185,7 @@ func TestMixedRows(t *testing.T) {
 		m := samples.Must(modelOpen(samples.Must(store.New(room))))
 		var works []api.Work
 		for range 1 + r.IntN(5) {
-			w := mixedWork(r, m.state, filesOf(m.d))
+			w := mixedWork(r, m.state, samples.Seen(m.d))
 			works = append(works, w)
 			m.run(w)
 		}

@@ -40,7 +40,7 @@ func commits(list ...api.Commit) string {
 	return b.String()
 }
 
-func inOf(text string) []api.Held { return []api.Held{heldOf(text)} }
+func inOf(text string) []api.Held { return []api.Held{samples.Held(text)} }
 
 func frameOfBytes(body string) string { return string(samples.Must(journal.Encode([]byte(body)))) }
 
@@ -99,7 +99,7 @@ func stateCases() []openCase {
 	return []openCase{
 		{"a checkpoint that is not Valid", map[string]string{"d/status": point}, api.ErrExeWork},
 		{"a journal that leads to what is not Valid", map[string]string{"d/journal": commits(api.Commit{Seq: 1, Group: 1, In: inOf("aa 1 pre=aa")})}, api.ErrExeWork},
-		{"two that conflict", map[string]string{"d/journal": commits(api.Commit{Seq: 1, Group: 1, In: []api.Held{heldOf("aa 1 conflicts=bb"), heldOf("bb 1")}})}, api.ErrExeWork},
+		{"two that conflict", map[string]string{"d/journal": commits(api.Commit{Seq: 1, Group: 1, In: []api.Held{samples.Held("aa 1 conflicts=bb"), samples.Held("bb 1")}})}, api.ErrExeWork},
 		{"what is not Valid, made Valid by the journal", map[string]string{"d/status": point, "d/journal": commits(api.Commit{Seq: 2, Group: 2, In: inOf("zz 1")})}, api.OK},
 		{"a journal that goes through what is not Valid", map[string]string{"d/journal": commits(api.Commit{Seq: 1, Group: 1, In: inOf("aa 1 depends=zz")}, api.Commit{Seq: 2, Group: 2, Out: []string{"aa"}})}, api.OK},
 		{"a step of no kind", map[string]string{"d/journal": commits(one(bad...))}, api.ErrTreeStep},
@@ -124,9 +124,9 @@ func TestOpen(t *testing.T) {
 	t.Parallel()
 	for _, c := range slices.Concat(loadCases(), stateCases()) {
 		for _, files := range []map[string]string{c.files, with(c.files, "n/1.0", "left", "n/odd", "left", "t/x", "old", "t/stray", "1", "d/status.new", "left", "other", "1"), with(c.files, "d/journal", c.files["d/journal"]+"torn")} {
-			d := diskOf(files, 0)
-			_, e := opened(t, c.what, d, diskOf(files, 0))
-			if e != c.want || e != api.OK && (d.Calls() > 0 || d.Pending() > 0 || told(filesOf(d)) != told(files)) {
+			d := samples.Disk(files, 0)
+			_, e := opened(t, c.what, d, samples.Disk(files, 0))
+			if e != c.want || e != api.OK && (d.Calls() > 0 || d.Pending() > 0 || told(samples.Seen(d)) != told(files)) {
 				t.Errorf("P18.1: %s: Open = %d, want %d, with %d calls", c.what, e, c.want, d.Calls())
 			}
 			if e == api.OK {
@@ -146,7 +146,7 @@ func TestOpenNothing(t *testing.T) {
 		t.Errorf("P18.1: Open(nil) = %v, %d", x, e)
 	}
 	for _, c := range slices.Concat(loadCases(), stateCases()) {
-		d := diskOf(with(c.files, "n/1.0", "left", "d/status.new", "left"), room)
+		d := samples.Disk(with(c.files, "n/1.0", "left", "d/status.new", "left"), room)
 		d.Fuse(0)
 		d.Sync()
 		if x, e := exec.Open(d); x != nil || e != api.ErrStoDead || d.Calls() > 0 || d.Pending() > 0 {
@@ -159,14 +159,14 @@ func TestOpenNothing(t *testing.T) {
 func TestCallsOfOpen(t *testing.T) {
 	t.Parallel()
 	d, _ := play("in aa 1 p:1 x:2", "in bb 1 q:3", "out aa; in aa 2 r:4 x:5; mend q:3")
-	done := filesOf(d)
+	done := samples.Seen(d)
 	whole := len(done["d/journal"])
 	undone := with(done, "t/p", "1", "t/x", "2", "n/3.0", "4", "n/3.1", "5", "n/3.2", "3")
 	delete(undone, "t/r")
 	lay := []call{rename("n/3.0", "t/r"), rename("n/3.1", "t/x"), remove("t/p"), rename("n/3.2", "t/q")}
 	cutOff := []call{cut("d/journal", whole), sync}
 	image := func(files map[string]string, more ...string) []api.Blob {
-		return diskOf(with(files, more...), 0).Image()
+		return samples.Disk(with(files, more...), 0).Image()
 	}
 	for _, c := range []struct {
 		what  string
@@ -187,7 +187,7 @@ func TestCallsOfOpen(t *testing.T) {
 	} {
 		holdCalls(t, "P18.1: "+c.what, c.image, 0, opening, api.OK, c.calls...)
 	}
-	empty := diskOf(map[string]string{"d/journal": "junk"}, 0).Image()
+	empty := samples.Disk(map[string]string{"d/journal": "junk"}, 0).Image()
 	holdCalls(t, "P18.1: a journal without a frame", empty, 0, opening, api.OK, cut("d/journal", 0), sync)
 }
 
@@ -195,7 +195,7 @@ func TestCallsOfOpen(t *testing.T) {
 func TestOpenAgainstOracle(t *testing.T) {
 	t.Parallel()
 	d, _ := play("in aa 1 p:1 x:2", "checkpoint", "in bb 1 q:3", "out aa; in aa 2 r:4 x:5; mend q:3")
-	done := filesOf(d)
+	done := samples.Seen(d)
 	leftovers := [][]string{{"n/3.0", "4"}, {"n/3.1", "5"}, {"n/3.2", "3"}, {"t/p", "1"}, {"n/4.0", "6", "n/1.0", "1"}, {"d/status.new", "new"}, {"d/journal", done["d/journal"] + "LAR\x01"}}
 	counts := map[string]int{}
 	for choice := range 1 << len(leftovers) {
@@ -206,7 +206,7 @@ func TestOpenAgainstOracle(t *testing.T) {
 			}
 		}
 		for fuse := -1; fuse < 11; fuse++ {
-			a, b := diskOf(files, 0), diskOf(files, 0)
+			a, b := samples.Disk(files, 0), samples.Disk(files, 0)
 			a.Fuse(fuse)
 			b.Fuse(fuse)
 			what := fmt.Sprintf("choice %b, power for %d calls", choice, fuse)
@@ -227,10 +227,10 @@ func TestOpenTells(t *testing.T) {
 	t.Parallel()
 	lines := []string{"in aa 1 p:1", "in bb 1 q:3; group 1", "mark aa", "out bb"}
 	d, states := play(lines...)
-	frames := filesOf(d)["d/journal"]
-	files := with(filesOf(d))
+	frames := samples.Seen(d)["d/journal"]
+	files := with(samples.Seen(d))
 	for taken, state := range states {
-		disk := diskOf(with(files, "d/status", string(pointOf(state))), 0)
+		disk := samples.Disk(with(files, "d/status", string(pointOf(state))), 0)
 		x, e := exec.Open(disk)
 		if e != api.OK || told(x.State()) != told(states[4]) || x.Frames() != 4 {
 			t.Errorf("P18.1: a checkpoint that has taken up %d: Open = %d, %d frames", taken, e, x.Frames())
@@ -238,9 +238,9 @@ func TestOpenTells(t *testing.T) {
 	}
 	for n := range len(frames) + 1 {
 		bodies, whole := journal.Decode([]byte(frames[:n]))
-		disk := diskOf(map[string]string{"d/journal": frames[:n]}, 0)
+		disk := samples.Disk(map[string]string{"d/journal": frames[:n]}, 0)
 		x, e := exec.Open(disk)
-		if e != api.OK || told(x.State()) != told(states[len(bodies)]) || x.Frames() != len(bodies) || filesOf(disk)["d/journal"] != frames[:whole] {
+		if e != api.OK || told(x.State()) != told(states[len(bodies)]) || x.Frames() != len(bodies) || samples.Seen(disk)["d/journal"] != frames[:whole] {
 			t.Fatalf("P18.1: a journal of %d bytes: Open = %d, %d frames", n, e, x.Frames())
 		}
 	}
@@ -254,13 +254,13 @@ func TestOpenGoesOn(t *testing.T) {
 		for _, more := range [][]string{nil, {"d/status.new", "torn"}, {"n/4.0", "1"}} {
 			d, states := play(lines...)
 			state := states[n]
-			files := with(filesOf(d), "d/status", string(pointOf(state)))
-			p, e := opened(t, "a checkpoint that was cut off", diskOf(with(files, more...), room), diskOf(with(files, more...), room))
+			files := with(samples.Seen(d), "d/status", string(pointOf(state)))
+			p, e := opened(t, "a checkpoint that was cut off", samples.Disk(with(files, more...), room), samples.Disk(with(files, more...), room))
 			if e != api.OK {
 				t.Fatalf("P18.1: Open = %d", e)
 			}
 			for _, text := range []string{"out bb", "in cc 1 c:1; group 4", "mark cc"} {
-				if e := p.run(t, "behind a checkpoint that was cut off", workOf(text)); e != api.OK {
+				if e := p.run(t, "behind a checkpoint that was cut off", samples.Work(text)); e != api.OK {
 					t.Errorf("P18.4: Run = %d", e)
 				}
 			}

@@ -1,16 +1,14 @@
 package exec_test
 
 import (
-	"cmp"
 	"crypto/sha256"
 	"fmt"
 	"slices"
-	"strconv"
-	"strings"
 	"testing"
 
 	"larder/api"
 	"larder/exec"
+	"larder/installed"
 	"larder/journal"
 	"larder/samples"
 	"larder/status"
@@ -24,72 +22,6 @@ const room = 1 << 20
 
 // told tells things as text; nil and empty are one.
 func told(things ...any) string { return fmt.Sprintf("%+v", things) }
-
-// file is the file of a path with just these bytes.
-func file(path, data string) api.File {
-	return api.File{Path: path, Size: len(data), Sum: sha256.Sum256([]byte(data))}
-}
-
-// blobsOf reads files as `x:hi y:`: paths and their bytes; words without a colon are passed over.
-func blobsOf(text string) []api.Blob {
-	var list []api.Blob
-	for _, word := range strings.Fields(text) {
-		if path, data, is := strings.Cut(word, ":"); is {
-			list = append(list, api.Blob{Name: path, Data: []byte(data)})
-		}
-	}
-	return list
-}
-
-// heldOf reads an installed package as samples.Package does, with files as blobsOf has them; `auto` among its words is its mark.
-func heldOf(text string) api.Held {
-	var h api.Held
-	var words []string
-	for _, word := range strings.Fields(text) {
-		if word == "auto" {
-			h.Mark = api.MarkAuto
-		} else if !strings.Contains(word, ":") {
-			words = append(words, word)
-		}
-	}
-	h.Package = samples.Package(strings.Join(words, " "))
-	for _, b := range blobsOf(text) {
-		h.Files = append(h.Files, file(b.Name, string(b.Data)))
-	}
-	return h
-}
-
-// workOf reads a work as `out aa bb; in cc 1 x:hi; in dd 1; mark ee; mend y:ho; group 3`; its Files are those of what comes.
-func workOf(text string) api.Work {
-	var w api.Work
-	for _, part := range samples.Parts(text) {
-		what, rest, _ := strings.Cut(part, " ")
-		switch what {
-		case "out":
-			w.Out = strings.Fields(rest)
-		case "in":
-			w.In = append(w.In, heldOf(rest))
-			w.Files = append(w.Files, blobsOf(rest)...)
-		case "mark":
-			w.Marks = strings.Fields(rest)
-		case "mend":
-			w.Mend = blobsOf(rest)
-		case "group":
-			w.Group, _ = strconv.Atoi(rest)
-		default:
-			panic(part)
-		}
-	}
-	return w
-}
-
-func packagesOf(held []api.Held) []api.Package {
-	var list []api.Package
-	for _, h := range held {
-		list = append(list, h.Package)
-	}
-	return list
-}
 
 // commitOf is 'a work's commit', without its steps.
 func commitOf(s api.State, w api.Work) api.Commit {
@@ -145,7 +77,7 @@ func fault(s api.State, w api.Work) api.Errno {
 		return api.ErrExeWork
 	}
 	behind := samples.Must(status.Apply(s, c))
-	if len(valid.Faults(packagesOf(behind.Held))) > 0 {
+	if len(valid.Faults(installed.Packages(behind.Held))) > 0 {
 		return api.ErrExeWork
 	}
 	if !filesAreRight(w) || !mendIsRight(s, w) {
@@ -249,7 +181,7 @@ func modelOpen(d *store.Store) (*model, api.Errno) {
 	if e != api.OK {
 		return nil, e
 	}
-	if len(valid.Faults(packagesOf(state.Held))) > 0 {
+	if len(valid.Faults(installed.Packages(state.Held))) > 0 {
 		return nil, api.ErrExeWork
 	}
 	if is && tree.Check(last.Steps) != api.OK {
@@ -382,39 +314,6 @@ func pointOf(s api.State) []byte {
 	return samples.Must(journal.Encode(samples.Must(status.Encode(s))))
 }
 
-// diskOf makes a store of files, all durable.
-func diskOf(files map[string]string, capacity int) *store.Store {
-	var blobs []api.Blob
-	for name, data := range files {
-		blobs = append(blobs, api.Blob{Name: name, Data: []byte(data)})
-	}
-	slices.SortFunc(blobs, func(a, b api.Blob) int { return cmp.Compare(a.Name, b.Name) })
-	return samples.Must(store.Load(blobs, capacity))
-}
-
-// filesOf tells a store's seen files.
-func filesOf(d *store.Store) map[string]string {
-	files := map[string]string{}
-	for _, b := range d.Image() {
-		files[b.Name] = string(b.Data)
-	}
-	return files
-}
-
-// diskTold tells all that a store tells.
-func diskTold(d *store.Store) string {
-	var b strings.Builder
-	fmt.Fprint(&b, d.Calls(), d.Pending(), d.Used(), d.Capacity(), d.Dead())
-	for _, blobs := range [][]api.Blob{d.Image(), d.Durable()} {
-		for _, blob := range blobs {
-			fmt.Fprintf(&b, " %s:%d:", blob.Name, len(blob.Data))
-			b.Write(blob.Data)
-		}
-		b.WriteString(" |")
-	}
-	return b.String()
-}
-
 // play plays lines on a new store as the document's words have them: works, and `checkpoint`; it tells the store and the states, the one ahead of all first.
 func play(lines ...string) (*store.Store, []api.State) {
 	d := samples.Must(store.New(api.MaxCapacity))
@@ -424,7 +323,7 @@ func play(lines ...string) (*store.Store, []api.State) {
 		if line == "checkpoint" {
 			samples.Must(0, m.checkpoint())
 		} else {
-			samples.Must(0, m.run(workOf(line)))
+			samples.Must(0, m.run(samples.Work(line)))
 			states = append(states, m.state)
 		}
 	}
@@ -446,8 +345,8 @@ func opened(t *testing.T, what string, d, twin *store.Store) (pair, api.Errno) {
 	if e != f || (x == nil) != (m == nil) {
 		t.Fatalf("P18.1: %s: Open = %v, %d, want %d", what, x != nil, e, f)
 	}
-	if diskTold(d) != diskTold(twin) {
-		t.Fatalf("P18.1: %s: Open leaves %q, want %q", what, diskTold(d), diskTold(twin))
+	if samples.Told(d) != samples.Told(twin) {
+		t.Fatalf("P18.1: %s: Open leaves %q, want %q", what, samples.Told(d), samples.Told(twin))
 	}
 	p := pair{x, d, m}
 	if e == api.OK {
@@ -469,7 +368,7 @@ func pairOf(t *testing.T, image []api.Blob, capacity int) pair {
 // hold holds what an Exec tells, and its store, against the model.
 func (p pair) hold(t *testing.T, what string) {
 	t.Helper()
-	if got, want := diskTold(p.d), diskTold(p.m.d); got != want {
+	if got, want := samples.Told(p.d), samples.Told(p.m.d); got != want {
 		t.Fatalf("%s: the store is %q, want %q", what, got, want)
 	}
 	if got := p.x.State(); told(got) != told(p.m.state) {

@@ -5,6 +5,7 @@ import (
 	"testing"
 
 	"larder/api"
+	"larder/samples"
 )
 
 // needs tells how many bytes a work stages, and how many its frame has.
@@ -26,19 +27,19 @@ func TestReserve(t *testing.T) {
 	for _, text := range []string{"in ee 1", "in ee 1 a:", "in ee 1 a:12345678", "in ee 1 a:1; in ff 1 b:2 c:3", "out aa bb; in aa 2 x:2345", "out dd; in ee 1 u:7; mark aa", "mend p:1", "mend s:", "out bb; mend p:1 x:2", "in ee 1 a:1; mend p:1", "mark aa; mend p:1; group 3"} {
 		d, states := play(base...)
 		state := states[len(states)-1]
-		w := workOf(text)
+		w := samples.Work(text)
 		staged, frame := needs(state, w)
 		for _, c := range []struct {
 			more int
 			want api.Errno
 		}{{0, api.OK}, {1, api.OK}, {-1, api.ErrExeFull}, {-api.Reserve, api.ErrExeFull}, {-api.Reserve - 1, api.ErrExeFull}, {-api.Reserve - frame, api.ErrExeFull}, {-api.Reserve - frame - 1, api.ErrExeFull}} {
 			p := pairOf(t, d.Image(), d.Used()+staged+frame+api.Reserve+c.more)
-			was := told(filesOf(p.d), p.x.State(), p.x.Frames())
+			was := told(samples.Seen(p.d), p.x.State(), p.x.Frames())
 			e := p.run(t, text, w)
 			if e != c.want {
 				t.Errorf("P18.4: %s, room for %d bytes beside the Reserve: Run = %d, want %d", text, c.more, e, c.want)
 			}
-			if e != api.OK && (told(filesOf(p.d), p.x.State(), p.x.Frames()) != was || p.d.Pending() > 0 || p.x.Dead()) {
+			if e != api.OK && (told(samples.Seen(p.d), p.x.State(), p.x.Frames()) != was || p.d.Pending() > 0 || p.x.Dead()) {
 				t.Errorf("P18.4: %s, room for %d bytes beside the Reserve: something is changed", text, c.more)
 			}
 		}
@@ -50,15 +51,15 @@ func TestWithoutReserve(t *testing.T) {
 	t.Parallel()
 	for _, text := range []string{"out bb", "out aa bb cc dd", "mark aa", "mark aa bb; group 3", "out cc; mark aa"} {
 		d, states := play(base...)
-		w := workOf(text)
+		w := samples.Work(text)
 		_, frame := needs(states[len(states)-1], w)
 		for _, c := range []struct {
 			more int
 			want api.Errno
 		}{{0, api.OK}, {1, api.OK}, {-1, api.ErrExeFull}, {-frame, api.ErrExeFull}, {-frame - 1, api.ErrExeFull}} {
 			p := pairOf(t, d.Image(), d.Used()+frame+c.more)
-			was := told(filesOf(p.d), p.x.State(), p.x.Frames())
-			if e := p.run(t, text, w); e != c.want || e != api.OK && told(filesOf(p.d), p.x.State(), p.x.Frames()) != was {
+			was := told(samples.Seen(p.d), p.x.State(), p.x.Frames())
+			if e := p.run(t, text, w); e != c.want || e != api.OK && told(samples.Seen(p.d), p.x.State(), p.x.Frames()) != was {
 				t.Errorf("P18.8: %s, room for %d bytes more than the frame: Run = %d, want %d", text, c.more, e, c.want)
 			}
 		}
@@ -72,7 +73,7 @@ func TestRoomAgainstOracle(t *testing.T) {
 	state := states[len(states)-1]
 	counts := map[string]int{}
 	for _, text := range []string{"out dd; in ee 1 a:12 b:345 c:; mend p:1 q:3", "in ee 1", "out aa bb", "mark aa", "mend p:1 s: x:2"} {
-		w := workOf(text)
+		w := samples.Work(text)
 		staged, frame := needs(state, w)
 		var rooms []int
 		for more := -2; more <= staged+1; more++ {
@@ -99,17 +100,17 @@ func TestRoomAgainstOracle(t *testing.T) {
 func TestRoomAgain(t *testing.T) {
 	t.Parallel()
 	p := pairOf(t, nil, 1000+api.Reserve)
-	long := workOf("in aa 1 x:" + fmt.Sprintf("%0600d", 7))
+	long := samples.Work("in aa 1 x:" + fmt.Sprintf("%0600d", 7))
 	if e := p.run(t, "there is room", long); e != api.OK {
 		t.Fatalf("P18.4: Run = %d", e)
 	}
-	other := workOf("in bb 1 y:" + fmt.Sprintf("%0600d", 8))
+	other := samples.Work("in bb 1 y:" + fmt.Sprintf("%0600d", 8))
 	for range 3 {
 		if e := p.run(t, "there is none", other); e != api.ErrExeFull || p.x.State().Seq != 1 || p.x.Frames() != 1 {
 			t.Errorf("P18.4: Run = %d", e)
 		}
 	}
-	if e := p.run(t, "a removal", workOf("out aa")); e != api.OK {
+	if e := p.run(t, "a removal", samples.Work("out aa")); e != api.OK {
 		t.Errorf("P18.8: Run = %d", e)
 	}
 	p.capacity(1300 + api.Reserve)
@@ -132,7 +133,7 @@ func TestCheckpointRoom(t *testing.T) {
 				p.fuse(fuse)
 				what := fmt.Sprintf("%q, room for %d bytes, power for %d calls", lines, more, fuse)
 				e := p.checkpoint(t, what)
-				if more >= size && e == api.OK && (p.x.Frames() != 0 || there(p.d, "d/journal") || told(filesOf(p.d)["d/status"]) != told(string(pointOf(p.m.state)))) {
+				if more >= size && e == api.OK && (p.x.Frames() != 0 || there(p.d, "d/journal") || told(samples.Seen(p.d)["d/status"]) != told(string(pointOf(p.m.state)))) {
 					t.Errorf("P18.5: %s: %d frames", what, p.x.Frames())
 				}
 				if more < size && (e != api.OK || p.x.Frames() != frames || p.d.Calls() > 0) {
@@ -145,7 +146,7 @@ func TestCheckpointRoom(t *testing.T) {
 				if e == api.OK {
 					p.capacity(room)
 					p.fuse(-1)
-					p.run(t, what, workOf("in yy 1 y:1"))
+					p.run(t, what, samples.Work("in yy 1 y:1"))
 				}
 			}
 		}

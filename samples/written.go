@@ -2,10 +2,12 @@ package samples
 
 import (
 	"slices"
+	"strconv"
 	"strings"
 
 	"larder/api"
 	"larder/relation"
+	"larder/sha"
 )
 
 // Must tells what was read of a text that a test has written; where it was not, the test is wrong.
@@ -78,4 +80,62 @@ func Wish(text string) api.Wish {
 		return api.Wish{Kind: kind}
 	}
 	return api.Wish{Kind: kind, Atom: Must(relation.ParseAtom(atom))}
+}
+
+// File tells the file of a path with just these bytes.
+func File(path, data string) api.File {
+	return api.File{Path: path, Size: len(data), Sum: sha.Sum([]byte(data))}
+}
+
+// Blobs reads files as `x:hi y:`: paths and their bytes. Words without a colon are passed over.
+func Blobs(text string) []api.Blob {
+	var list []api.Blob
+	for _, word := range strings.Fields(text) {
+		if path, data, is := strings.Cut(word, ":"); is {
+			list = append(list, api.Blob{Name: path, Data: []byte(data)})
+		}
+	}
+	return list
+}
+
+// Held reads an installed package as Package does, with files as Blobs has them; `auto` among its words is its mark.
+func Held(text string) api.Held {
+	var h api.Held
+	var words []string
+	for _, word := range strings.Fields(text) {
+		if word == "auto" {
+			h.Mark = api.MarkAuto
+		} else if !strings.Contains(word, ":") {
+			words = append(words, word)
+		}
+	}
+	h.Package = Package(strings.Join(words, " "))
+	for _, b := range Blobs(text) {
+		h.Files = append(h.Files, File(b.Name, string(b.Data)))
+	}
+	return h
+}
+
+// Work reads a work as `out aa bb; in cc 1 x:hi; in dd 1; mark ee; mend y:ho; group 3`; its Files are those of what comes.
+func Work(text string) api.Work {
+	var w api.Work
+	for _, part := range Parts(text) {
+		what, rest, _ := strings.Cut(part, " ")
+		switch what {
+		case "out":
+			w.Out = strings.Fields(rest)
+		case "in":
+			w.In = append(w.In, Held(rest))
+			w.Files = append(w.Files, Blobs(rest)...)
+		case "mark":
+			w.Marks = strings.Fields(rest)
+		case "mend":
+			w.Mend = Blobs(rest)
+		case "group":
+			w.Group, _ = strconv.Atoi(rest)
+		default:
+			panic(part)
+		}
+	}
+	return w
 }

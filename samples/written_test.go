@@ -1,6 +1,7 @@
 package samples_test
 
 import (
+	"crypto/sha256"
 	"reflect"
 	"testing"
 
@@ -39,16 +40,43 @@ func TestWrittenWishes(t *testing.T) {
 	}
 }
 
+func TestWrittenWork(t *testing.T) {
+	hi := api.File{Path: "x", Size: 2, Sum: sha256.Sum256([]byte("hi"))}
+	want := api.Work{
+		Out: []string{"aa", "bb"},
+		In: []api.Held{
+			{Package: api.Package{Name: "cc", Version: "1", Provides: []string{"mail"}, Files: []api.File{hi, {Path: "y", Sum: sha256.Sum256(nil)}}}, Mark: api.MarkAuto},
+			{Package: api.Package{Name: "dd", Version: "2"}},
+		},
+		Marks: []string{"ee"},
+		Group: 3,
+		Files: []api.Blob{{Name: "x", Data: []byte("hi")}, {Name: "y", Data: []byte{}}},
+		Mend:  []api.Blob{{Name: "z", Data: []byte("a:b")}},
+	}
+	if got := samples.Work("out aa bb; in cc 1 x:hi auto provides=mail y:; in dd 2; mark ee; mend z:a:b odd; group 3"); !reflect.DeepEqual(got, want) {
+		t.Errorf("Work = %+v", got)
+	}
+	if got := samples.Work(""); !reflect.DeepEqual(got, api.Work{}) {
+		t.Errorf("Work of nothing = %+v", got)
+	}
+}
+
 // What no test should write is told at once.
 func TestWrittenWrong(t *testing.T) {
-	for _, text := range []string{"aa", "aa 1 odd=bb", "aa 1 depends=b"} {
+	for text, read := range map[string]func(text string){
+		"aa":              func(text string) { samples.Package(text) },
+		"aa 1 odd=bb":     func(text string) { samples.Package(text) },
+		"aa 1 depends=b":  func(text string) { samples.Package(text) },
+		"aa 1 x:hi odd=1": func(text string) { samples.Held(text) },
+		"odd aa":          func(text string) { samples.Work(text) },
+	} {
 		func() {
 			defer func() {
 				if recover() == nil {
 					t.Errorf("%q is read", text)
 				}
 			}()
-			samples.Package(text)
+			read(text)
 		}()
 	}
 }

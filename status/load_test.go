@@ -43,14 +43,14 @@ func point(s api.State) string { return frameOf(stateBytes(s)) }
 // holdLoad holds Load against the oracle, and that nothing is changed.
 func holdLoad(t *testing.T, what string, d *store.Store) (api.State, api.Commit, bool, api.Errno) {
 	t.Helper()
-	ahead := diskTold(d)
+	ahead := samples.Told(d)
 	state, commit, is, e := status.Load(d)
-	s, c, i, f := loaded(filesOf(d))
+	s, c, i, f := loaded(samples.Seen(d))
 	if e != f || is != i || told(state) != told(s) || told(commit) != told(c) {
 		t.Fatalf("P16.3: %q: Load = %q, %q, %v, %d, want %q, %q, %v, %d", what, told(state), told(commit), is, e, told(s), told(c), i, f)
 	}
-	if diskTold(d) != ahead {
-		t.Fatalf("P16.3: %q: Load changes the store: %q, was %q", what, diskTold(d), ahead)
+	if samples.Told(d) != ahead {
+		t.Fatalf("P16.3: %q: Load changes the store: %q, was %q", what, samples.Told(d), ahead)
 	}
 	return state, commit, is, e
 }
@@ -82,7 +82,7 @@ func TestLoad(t *testing.T) {
 		if x.journal != nothing {
 			files["d/journal"] = x.journal
 		}
-		state, commit, is, e := holdLoad(t, x.what, disk(files, room))
+		state, commit, is, e := holdLoad(t, x.what, samples.Disk(files, room))
 		if told(state) != told(x.state) || !status.Same(state, x.state) || commit.Seq != x.last || is != (x.last > 0) || e != x.e {
 			t.Errorf("P16.3: %q: Load = %q, %q, %v, %d", x.what, told(state), told(commit), is, e)
 		}
@@ -103,7 +103,7 @@ func TestLoadWithout(t *testing.T) {
 	}
 	hold("no store", nil, api.ErrArg)
 	for _, files := range []map[string]string{{}, {"d/status": "junk"}, {"d/status": point(api.State{})}, {"d/journal": frameOf("junk")}} {
-		d := disk(files, room)
+		d := samples.Disk(files, room)
 		d.Fuse(0)
 		d.Sync()
 		hold("no power", d, api.ErrStoDead)
@@ -117,7 +117,7 @@ func TestLoadWithout(t *testing.T) {
 func TestLoadSeen(t *testing.T) {
 	t.Parallel()
 	c, s := way()
-	d := disk(map[string]string{"d/status": point(s[2])}, room)
+	d := samples.Disk(map[string]string{"d/status": point(s[2])}, room)
 	d.Write("d/journal", []byte(commitFrames(c[2])))
 	if state, _, _, _ := holdLoad(t, "a journal not yet durable", d); state.Seq != 3 {
 		t.Errorf("P16.3: %d", state.Seq)
@@ -153,7 +153,7 @@ func TestSmallJournals(t *testing.T) {
 			if p != "(none)" {
 				files["d/status"] = p
 			}
-			_, _, is, e := holdLoad(t, "a row", disk(files, room))
+			_, _, is, e := holdLoad(t, "a row", samples.Disk(files, room))
 			counts[fmt.Sprint(int(e), is)]++
 		}
 	}
@@ -167,7 +167,7 @@ func TestReplay(t *testing.T) {
 	t.Parallel()
 	r := rand.New(rand.NewPCG(16, 4))
 	for range 4 {
-		d := disk(nil, 1<<28)
+		d := samples.Disk(nil, 1<<28)
 		s := api.State{}
 		for s.Seq < 280 {
 			c := mixedCommit(r, s)
@@ -204,7 +204,7 @@ func TestOneMore(t *testing.T) {
 	for from := range c {
 		for to := from; to < len(c); to++ {
 			files := map[string]string{"d/status": point(s[from]), "d/journal": commitFrames(c[slices.Min([]int{from, 1}):to]...)}
-			d := disk(files, room)
+			d := samples.Disk(files, room)
 			if got, _, _, e := holdLoad(t, "ahead", d); e != api.OK || told(got) != told(s[to]) {
 				t.Fatalf("P16.7: Load = %q, %d", told(got), e)
 			}

@@ -200,7 +200,7 @@ func TestMemoryOfDisk(t *testing.T) {
 	for _, commit := range fullCommits() {
 		s := samples.RoomyState(fullState())
 		ahead := told(samples.ExtentOfState(s))
-		d := disk(nil, room)
+		d := samples.Disk(nil, room)
 		if e := status.Save(d, s); e != api.OK || told(samples.ExtentOfState(s)) != ahead {
 			t.Fatalf("P16.4: Save = %d, or changes the state", e)
 		}

@@ -4,7 +4,6 @@ import (
 	"cmp"
 	"fmt"
 	"slices"
-	"strconv"
 	"strings"
 
 	"larder/api"
@@ -451,35 +450,4 @@ func saved(d *store.Store, s api.State) api.Errno {
 		e = call()
 	}
 	return e
-}
-
-// filesOf tells a store's seen files.
-func filesOf(d *store.Store) map[string]string {
-	files := map[string]string{}
-	for _, b := range d.Image() {
-		files[b.Name] = string(b.Data)
-	}
-	return files
-}
-
-// disk makes a store of files, all durable.
-func disk(files map[string]string, capacity int) *store.Store {
-	var blobs []api.Blob
-	for name, data := range files {
-		blobs = append(blobs, api.Blob{Name: name, Data: []byte(data)})
-	}
-	slices.SortFunc(blobs, func(a, b api.Blob) int { return cmp.Compare(a.Name, b.Name) })
-	return samples.Must(store.Load(blobs, capacity))
-}
-
-// diskTold tells all that a store tells.
-func diskTold(d *store.Store) string {
-	text := fmt.Sprint(d.Calls(), d.Pending(), d.Used(), d.Capacity(), d.Dead())
-	for _, blobs := range [][]api.Blob{d.Image(), d.Durable()} {
-		text += "\n"
-		for _, b := range blobs {
-			text += b.Name + ":" + strconv.Quote(string(b.Data)) + " "
-		}
-	}
-	return text
 }

@@ -24,7 +24,7 @@ func TestSave(t *testing.T) {
 		{"a checkpoint", map[string]string{"d/status": point(s[1])}, 4}, {"a checkpoint and a journal", map[string]string{"d/status": point(s[1]), "d/journal": commitFrames(c[1:]...)}, 6}, {"a new one left over", map[string]string{"d/status.new": "left over", "d/journal": commitFrames(c...)}, 6}, {"files that are no checkpoint", map[string]string{"d/status": "junk", "d/status.new": "junk", "t/x": "x"}, 4},
 	} {
 		for _, state := range s {
-			d := disk(x.files, room)
+			d := samples.Disk(x.files, room)
 			if e := status.Save(d, state); e != api.OK || d.Calls() != x.calls || d.Pending() != 0 {
 				t.Errorf("P16.4: %s: Save = %d, with %d calls, %d pending", x.what, e, d.Calls(), d.Pending())
 			}
@@ -32,7 +32,7 @@ func TestSave(t *testing.T) {
 			if x.files["t/x"] != "" {
 				want["t/x"] = "x"
 			}
-			if got := filesOf(d); fmt.Sprintf("%q", got) != fmt.Sprintf("%q", want) {
+			if got := samples.Seen(d); fmt.Sprintf("%q", got) != fmt.Sprintf("%q", want) {
 				t.Errorf("P16.4: %s: Save leaves %q, want %q", x.what, got, want)
 			}
 			if got, last, is, e := holdLoad(t, x.what, d); e != api.OK || is || last.Seq != 0 || !status.Same(got, state) {
@@ -46,7 +46,7 @@ func TestSave(t *testing.T) {
 func TestSaveWrong(t *testing.T) {
 	t.Parallel()
 	broken := api.State{Seq: -1}
-	dead := disk(map[string]string{"d/journal": "x"}, room)
+	dead := samples.Disk(map[string]string{"d/journal": "x"}, room)
 	dead.Fuse(0)
 	dead.Sync()
 	for _, x := range []struct {
@@ -55,7 +55,7 @@ func TestSaveWrong(t *testing.T) {
 		s    api.State
 		want api.Errno
 	}{
-		{"no store", nil, api.State{}, api.ErrArg}, {"no store, a state that may not be", nil, broken, api.ErrArg}, {"a state that may not be", disk(nil, room), broken, api.ErrStaState}, {"a state that may not be, no room", disk(nil, 0), broken, api.ErrStaState}, {"a state that may not be, no power", dead, broken, api.ErrStaState}, {"no power", dead, api.State{}, api.ErrStoDead}, {"no room", disk(nil, 44), api.State{}, api.ErrStoFull}, {"just enough room", disk(nil, 45), api.State{}, api.OK},
+		{"no store", nil, api.State{}, api.ErrArg}, {"no store, a state that may not be", nil, broken, api.ErrArg}, {"a state that may not be", samples.Disk(nil, room), broken, api.ErrStaState}, {"a state that may not be, no room", samples.Disk(nil, 0), broken, api.ErrStaState}, {"a state that may not be, no power", dead, broken, api.ErrStaState}, {"no power", dead, api.State{}, api.ErrStoDead}, {"no room", samples.Disk(nil, 44), api.State{}, api.ErrStoFull}, {"just enough room", samples.Disk(nil, 45), api.State{}, api.OK},
 	} {
 		if e := status.Save(x.d, x.s); e != x.want {
 			t.Errorf("P16.4: %s: Save = %d, want %d", x.what, e, x.want)
@@ -68,7 +68,7 @@ func TestSaveWrong(t *testing.T) {
 
 // twins tells two stores that are the same.
 func twins(files map[string]string, capacity, fuse int) (*store.Store, *store.Store) {
-	a, b := disk(files, capacity), disk(files, capacity)
+	a, b := samples.Disk(files, capacity), samples.Disk(files, capacity)
 	a.Fuse(fuse)
 	b.Fuse(fuse)
 	return a, b
@@ -99,13 +99,13 @@ func TestSaveAgainstOracle(t *testing.T) {
 	counts := map[string]int{}
 	size := len(point(state))
 	for what, files := range list {
-		used := disk(files, room).Used()
+		used := samples.Disk(files, room).Used()
 		for _, capacity := range []int{room, used, used + size, used + size - 1, used + size - len(files["d/status.new"]), used + size - len(files["d/status.new"]) - 1, 0} {
 			for fuse := -1; fuse < 8; fuse++ {
 				a, b := twins(files, capacity, fuse)
 				got, want := status.Save(a, state), saved(b, state)
-				if got != want || diskTold(a) != diskTold(b) {
-					t.Fatalf("P16.4: %s, room for %d, power for %d calls: Save = %d, want %d; the store is %s, want %s", what, capacity, fuse, got, want, diskTold(a), diskTold(b))
+				if got != want || samples.Told(a) != samples.Told(b) {
+					t.Fatalf("P16.4: %s, room for %d, power for %d calls: Save = %d, want %d; the store is %s, want %s", what, capacity, fuse, got, want, samples.Told(a), samples.Told(b))
 				}
 				counts[fmt.Sprint(int(got), " ", a.Calls())]++
 			}
@@ -128,11 +128,11 @@ func TestCrashes(t *testing.T) {
 	size := len(point(state))
 	counts := map[string]int{}
 	for what, files := range list {
-		used := disk(files, room).Used()
+		used := samples.Disk(files, room).Used()
 		for _, capacity := range []int{room, used + 1} {
 			for _, fuses := range samples.Lists([]int{-1, 0, 1, 2, 3, 4, 5, 6}, 2) {
 				for _, kept := range crashes(size) {
-					d := disk(files, capacity)
+					d := samples.Disk(files, capacity)
 					for _, fuse := range fuses {
 						d.Fuse(fuse)
 						e := status.Save(d, state)
@@ -158,7 +158,7 @@ func TestTornCheckpoint(t *testing.T) {
 	list, state := places()
 	for what, files := range list {
 		for kept := range len(point(state)) + 4 {
-			d := disk(files, room)
+			d := samples.Disk(files, room)
 			d.Fuse(0)
 			e := status.Save(d, state)
 			d.Crash(api.Choice{Kept: []int{kept}})

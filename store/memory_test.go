@@ -12,45 +12,21 @@ import (
 	"larder/store"
 )
 
-func roomyBlobs(blobs []api.Blob) []api.Blob {
-	blobs = samples.Roomy(blobs, api.Blob{Name: "zz", Data: []byte("beyond")})
-	for i, b := range blobs {
-		blobs[i].Data = samples.Roomy(b.Data, '!')
-	}
-	return blobs
-}
-
-// extent tells a copy of all that blobs and their bytes have room for.
-func extent(blobs []api.Blob) []api.Blob {
-	blobs = samples.Room(blobs)
-	for i, b := range blobs {
-		blobs[i].Data = samples.Room(b.Data)
-	}
-	return blobs
-}
-
-func spoil(blobs []api.Blob) {
-	for _, b := range blobs[:cap(blobs)] {
-		samples.Fill(b.Data, '?')
-	}
-	samples.Fill(blobs, api.Blob{Name: "spoiled", Data: []byte("?")})
-}
-
 // P14.12: what is handed in is neither changed nor kept.
 func TestGiven(t *testing.T) {
 	t.Parallel()
-	first := roomyBlobs([]api.Blob{{Name: "a", Data: []byte("12")}, {Name: "b", Data: []byte("3")}, {Name: "c"}})
-	was := extent(first)
+	first := samples.RoomyBlobs([]api.Blob{{Name: "a", Data: []byte("12")}, {Name: "b", Data: []byte("3")}, {Name: "c"}})
+	was := samples.ExtentOfBlobs(first)
 	s := samples.Must(store.Load(first, 99))
 	pieces := [][]byte{samples.Roomy([]byte("xyz"), '!'), samples.Roomy([]byte("45"), '!'), samples.Roomy([]byte("uvw"), '!')}
 	whole := samples.RoomOfRows(pieces)
 	s.Write("d", pieces[0])
 	s.Append("a", pieces[1])
 	s.Append("d", pieces[2])
-	if !reflect.DeepEqual(extent(first), was) || !reflect.DeepEqual(samples.RoomOfRows(pieces), whole) {
-		t.Fatalf("P14.12: what was handed in is changed: %q, %q", extent(first), samples.RoomOfRows(pieces))
+	if !reflect.DeepEqual(samples.ExtentOfBlobs(first), was) || !reflect.DeepEqual(samples.RoomOfRows(pieces), whole) {
+		t.Fatalf("P14.12: what was handed in is changed: %q, %q", samples.ExtentOfBlobs(first), samples.RoomOfRows(pieces))
 	}
-	spoil(first)
+	samples.SpoilBlobs(first)
 	samples.FillRows(pieces, '?')
 	if got, want := image(s.Image()), "a:1245 b:3 c: d:xyzuvw"; got != want {
 		t.Errorf("P14.12: what was handed in is kept: seen is %q, want %q", got, want)
@@ -84,11 +60,11 @@ func TestAnswered(t *testing.T) {
 			samples.Fill(data, '?')
 		}
 		seen, durable := s.Image(), s.Durable()
-		spoil(seen)
+		samples.SpoilBlobs(seen)
 		if got, want := image(durable), "a:12 b:3 c:"; got != want {
 			t.Errorf("P14.12: Image and Durable share: %q, want %q", got, want)
 		}
-		spoil(durable)
+		samples.SpoilBlobs(durable)
 		if got, want := image(s.Image()), "a:1245 b:38 c: d:xyzuvw"; got != want {
 			t.Errorf("P14.12: what was answered is kept: seen is %q, want %q", got, want)
 		}
@@ -132,8 +108,8 @@ func TestMemoryMixed(t *testing.T) {
 			samples.Fill(handed.data, '?')
 			samples.Fill(handed.kept, 1)
 			hold(t, c.kind, s, o)
-			spoil(s.Image())
-			spoil(s.Durable())
+			samples.SpoilBlobs(s.Image())
+			samples.SpoilBlobs(s.Durable())
 			data, _ := s.Read(c.name)
 			samples.Fill(data, '?')
 			hold(t, c.kind, s, o)

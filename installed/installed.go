@@ -1,0 +1,19 @@
+// Package installed asks of installed packages what the layers tell of packages alone.
+package installed
+
+import (
+	"larder/api"
+	"larder/valid"
+)
+
+// Packages tells the stanzas of installed packages, whose lists are still theirs.
+func Packages(held []api.Held) []api.Package {
+	list := make([]api.Package, len(held))
+	for i, h := range held {
+		list[i] = h.Package
+	}
+	return list
+}
+
+// Valid tells whether they are a set in which nothing is broken.
+func Valid(held []api.Held) bool { return valid.Valid(Packages(held)) }
