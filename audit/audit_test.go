@@ -50,32 +50,23 @@ func TestExamples(t *testing.T) {
 	}
 }
 
-// heldOf reads installed packages, `; ` between them.
-func heldOf(text string) []api.Held {
-	var held []api.Held
-	for _, part := range samples.Parts(text) {
-		held = append(held, samples.Held(part))
-	}
-	return held
-}
-
 // noStates are lists of packages that no state may have, by what is wrong with them.
 func noStates() map[string][]api.Held {
 	return map[string][]api.Held{
-		"names that fall":                       heldOf("bb 1; aa 1"),
-		"names that fall, though versions rise": heldOf("aa1 1; aa 9"),
-		"names that rise, then fall":            heldOf("aa 1; cc 1; bb 1 x:hi"),
-		"a name twice":                          heldOf("aa 1; aa 2"),
-		"a package twice":                       heldOf("aa 1; aa 1"),
-		"a Depends that is not met":             heldOf("aa 1 depends=bb x:hi; cc 1"),
-		"a Depends that is met too low":         heldOf("aa 1 depends=bb(>=2); bb 1 x:hi"),
-		"a Pre-Depends that is not met":         heldOf("aa 1 pre=bb"),
-		"a Pre-Depends that its package meets":  heldOf("aa 1 pre=aa"),
-		"a conflict":                            heldOf("aa 1 conflicts=bb; bb 1"),
-		"a conflict with what is provided":      heldOf("aa 1 conflicts=mail; bb 1 provides=mail"),
-		"a path of two":                         heldOf("aa 1 x:hi; bb 1 x:hi"),
-		"a path twice in one":                   heldOf("aa 1 x:hi x:hi"),
-		"all at once":                           heldOf("bb 1 x:hi; aa 1 depends=cc x:hi; aa 2"),
+		"names that fall":                       samples.AllHeld("bb 1; aa 1"),
+		"names that fall, though versions rise": samples.AllHeld("aa1 1; aa 9"),
+		"names that rise, then fall":            samples.AllHeld("aa 1; cc 1; bb 1 x:hi"),
+		"a name twice":                          samples.AllHeld("aa 1; aa 2"),
+		"a package twice":                       samples.AllHeld("aa 1; aa 1"),
+		"a Depends that is not met":             samples.AllHeld("aa 1 depends=bb x:hi; cc 1"),
+		"a Depends that is met too low":         samples.AllHeld("aa 1 depends=bb(>=2); bb 1 x:hi"),
+		"a Pre-Depends that is not met":         samples.AllHeld("aa 1 pre=bb"),
+		"a Pre-Depends that its package meets":  samples.AllHeld("aa 1 pre=aa"),
+		"a conflict":                            samples.AllHeld("aa 1 conflicts=bb; bb 1"),
+		"a conflict with what is provided":      samples.AllHeld("aa 1 conflicts=mail; bb 1 provides=mail"),
+		"a path of two":                         samples.AllHeld("aa 1 x:hi; bb 1 x:hi"),
+		"a path twice in one":                   samples.AllHeld("aa 1 x:hi x:hi"),
+		"all at once":                           samples.AllHeld("bb 1 x:hi; aa 1 depends=cc x:hi; aa 2"),
 	}
 }
 
@@ -84,20 +75,20 @@ func states() map[string][]api.Held {
 	return map[string][]api.Held{
 		"none":                                  nil,
 		"an empty list":                         {},
-		"one":                                   heldOf("aa 1 x:hi"),
-		"marks":                                 heldOf("aa 1 auto x:hi; bb 1"),
-		"a Depends that is met":                 heldOf("aa 1 depends=bb; bb 1 x:hi"),
-		"a Depends that is provided":            heldOf("aa 1 depends=mail; bb 1 provides=mail x:hi"),
-		"a Depends of its own":                  heldOf("aa 1 depends=aa"),
-		"a Pre-Depends that is met":             heldOf("aa 1 pre=bb; bb 1"),
-		"a conflict with itself":                heldOf("aa 1 conflicts=aa"),
-		"a conflict with an older one":          heldOf("aa 1 conflicts=bb(<<1); bb 1"),
-		"a path below another":                  heldOf("aa 1 x:hi; bb 1 x/y:hi"),
+		"one":                                   samples.AllHeld("aa 1 x:hi"),
+		"marks":                                 samples.AllHeld("aa 1 auto x:hi; bb 1"),
+		"a Depends that is met":                 samples.AllHeld("aa 1 depends=bb; bb 1 x:hi"),
+		"a Depends that is provided":            samples.AllHeld("aa 1 depends=mail; bb 1 provides=mail x:hi"),
+		"a Depends of its own":                  samples.AllHeld("aa 1 depends=aa"),
+		"a Pre-Depends that is met":             samples.AllHeld("aa 1 pre=bb; bb 1"),
+		"a conflict with itself":                samples.AllHeld("aa 1 conflicts=aa"),
+		"a conflict with an older one":          samples.AllHeld("aa 1 conflicts=bb(<<1); bb 1"),
+		"a path below another":                  samples.AllHeld("aa 1 x:hi; bb 1 x/y:hi"),
 		"a mark that is none":                   {{Package: api.Package{Name: "aa", Version: "1"}, Mark: 7}},
 		"a package that may not be":             {{Package: api.Package{Name: "", Version: "no version"}}},
-		"names in the order of bytes":           heldOf("a.b 1; a0b 1; aab 1; abb 1"),
-		"names that rise, though versions fall": heldOf("aa 9; aa1 1 x:hi"),
-		"a name that begins another":            heldOf("aa 1; aaa 1 x:hi"),
+		"names in the order of bytes":           samples.AllHeld("a.b 1; a0b 1; aab 1; abb 1"),
+		"names that rise, though versions fall": samples.AllHeld("aa 9; aa1 1 x:hi"),
+		"a name that begins another":            samples.AllHeld("aa 1; aaa 1 x:hi"),
 		"paths and sizes that are none":         {{Package: api.Package{Name: "aa", Files: []api.File{{Path: "z", Size: -1}, {Path: ""}, {Path: "a b"}}}}},
 	}
 }
@@ -137,7 +128,7 @@ func TestNothing(t *testing.T) {
 		if got := holdCheck(t, "no files, no packages", s, nil); len(got) > 0 {
 			t.Errorf("P21.1: Check = %v", got)
 		}
-		if got := holdCheck(t, "no files", s, heldOf("aa 1 y:1 x:; bb 1 a:1")); !slices.Equal(got, wrongs("missing x aa 1; missing y aa 1; missing a bb 1")) {
+		if got := holdCheck(t, "no files", s, samples.AllHeld("aa 1 y:1 x:; bb 1 a:1")); !slices.Equal(got, wrongs("missing x aa 1; missing y aa 1; missing a bb 1")) {
 			t.Errorf("P21.1: Check = %v", got)
 		}
 	}
@@ -146,7 +137,7 @@ func TestNothing(t *testing.T) {
 // P21.1: what each name of the store is, alone and among all others.
 func TestNames(t *testing.T) {
 	t.Parallel()
-	held := heldOf("aa 1 usr/x:hi")
+	held := samples.AllHeld("aa 1 usr/x:hi")
 	held[0].Files = append(held[0].Files, samples.File("", "hi")) // a path that may not be, of which a store can have the name
 	files := map[string]string{"t/usr/x": "hi", "t/": "hi"}
 	long := strings.Repeat("l", api.MaxPath)
@@ -198,7 +189,7 @@ func TestOddFiles(t *testing.T) {
 // P21.1: all states of four files of three packages, with all choices of three others: as the oracle has it.
 func TestSmall(t *testing.T) {
 	t.Parallel()
-	held := heldOf("aa 1 x:hi y:; bb 2; cc 3 a:ho b/c:hi")
+	held := samples.AllHeld("aa 1 x:hi y:; bb 2; cc 3 a:ho b/c:hi")
 	var counts [7]int
 	for _, x := range []string{"-", "hi", "ha", "hah", "h", ""} {
 		for _, y := range []string{"-", "", "1", "hi"} {
@@ -279,7 +270,7 @@ func TestOwner(t *testing.T) {
 		{"aa 1 depends=zz conflicts=aa pre=aa x:", "x", "aa 1"},
 		{"aa 1 auto a: b: c:; bb 1 essential d: e: f:", "f", "bb 1"},
 	} {
-		k, ok := audit.Owner(heldOf(c.held), c.path)
+		k, ok := audit.Owner(samples.AllHeld(c.held), c.path)
 		name, version, is := strings.Cut(c.want, " ")
 		if k != (api.Key{Name: name, Version: version}) || ok != is {
 			t.Errorf("P21.3: Owner of %q in %q = %v, %v, want %q", c.path, c.held, k, ok, c.want)

@@ -263,7 +263,7 @@ func mixedHeld(r *rand.Rand) []api.Held {
 	if len(parts) > 1 && r.IntN(12) == 0 {
 		parts[0], parts[1] = parts[1], parts[0]
 	}
-	return heldOf(strings.Join(parts, "; "))
+	return samples.AllHeld(strings.Join(parts, "; "))
 }
 
 // P21.1 to P21.3: mixed states over mixed stores, with mixed archives: as the oracle has it.

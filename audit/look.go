@@ -5,6 +5,7 @@ import (
 	"strings"
 
 	"larder/api"
+	"larder/installed"
 	"larder/sha"
 	"larder/store"
 )
@@ -26,7 +27,7 @@ func broken(s *store.Store, held []api.Held) []api.Wrong {
 	for _, h := range held {
 		for _, f := range byPaths(h.Files) {
 			if kind := look(s, f); kind != right {
-				list = append(list, api.Wrong{Kind: kind, Path: f.Path, Who: keyOf(h)})
+				list = append(list, api.Wrong{Kind: kind, Path: f.Path, Who: installed.Key(h)})
 			}
 		}
 	}

@@ -11,7 +11,7 @@ import (
 func State(s api.State) api.State {
 	s.Held = Held(s.Held)
 	s.Before = Held(s.Before)
-	s.Past = each(s.Past, entry)
+	s.Past = Entries(s.Past)
 	return s
 }
 
@@ -32,6 +32,9 @@ func Package(p api.Package) api.Package {
 	p.Files = slices.Clone(p.Files)
 	return p
 }
+
+// Entries tells the same entries.
+func Entries(l []api.Entry) []api.Entry { return each(l, entry) }
 
 func entry(e api.Entry) api.Entry {
 	e.Out = slices.Clone(e.Out)

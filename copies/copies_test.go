@@ -82,6 +82,11 @@ func TestPackages(t *testing.T) {
 	if told(list) != want || told(one) != told(samples.Full("aa", "1")) || told(held) != told([]api.Held{{Package: samples.Full("bb", "2"), Mark: api.MarkAuto}}) {
 		t.Errorf("copies change: %s, %s, %s", told(list), told(one), told(held))
 	}
+	entries := copies.Entries(full().Past)
+	samples.Fill(entries[0].Out, api.Key{Name: "spoiled"})
+	if told(entries[0].In) != told(full().Past[0].In) || told(entries[1]) != told(full().Past[1]) {
+		t.Errorf("two lists of entries share memory: %s", told(entries))
+	}
 	if got := copies.Packages(nil); len(got) > 0 {
 		t.Errorf("Packages(nil) = %v", got)
 	}

@@ -6,6 +6,9 @@ import (
 	"larder/valid"
 )
 
+// Key tells the name and the version of an installed package.
+func Key(h api.Held) api.Key { return api.Key{Name: h.Name, Version: h.Version} }
+
 // Packages tells the stanzas of installed packages, whose lists are still theirs.
 func Packages(held []api.Held) []api.Package {
 	list := make([]api.Package, len(held))

@@ -18,6 +18,12 @@ func heldOf(text string) []api.Held {
 	return held
 }
 
+func TestKey(t *testing.T) {
+	if got := installed.Key(heldOf("aa 1:2-3 provides=bb files=x")[0]); got != (api.Key{Name: "aa", Version: "1:2-3"}) {
+		t.Errorf("Key = %+v", got)
+	}
+}
+
 func TestPackages(t *testing.T) {
 	const text = "bb 1 depends=aa files=x; aa 2 provides=mail; aa 2"
 	held := heldOf(text)

@@ -116,6 +116,25 @@ func Held(text string) api.Held {
 	return h
 }
 
+// AllHeld reads installed packages with `; ` between them.
+func AllHeld(text string) []api.Held {
+	var list []api.Held
+	for _, part := range Parts(text) {
+		list = append(list, Held(part))
+	}
+	return list
+}
+
+// Keys reads keys as `aa=1 bb=1:2-3`.
+func Keys(text string) []api.Key {
+	var list []api.Key
+	for _, word := range strings.Fields(text) {
+		name, version, _ := strings.Cut(word, "=")
+		list = append(list, api.Key{Name: name, Version: version})
+	}
+	return list
+}
+
 // Work reads a work as `out aa bb; in cc 1 x:hi; in dd 1; mark ee; mend y:ho; group 3`; its Files are those of what comes.
 func Work(text string) api.Work {
 	var w api.Work

@@ -61,6 +61,26 @@ func TestWrittenWork(t *testing.T) {
 	}
 }
 
+func TestWrittenHeld(t *testing.T) {
+	want := []api.Held{{Package: samples.Package("bb 1 depends=aa"), Mark: api.MarkAuto}, samples.Held("aa 2 x:hi")}
+	if got := samples.AllHeld("bb 1 auto depends=aa; aa 2 x:hi"); !reflect.DeepEqual(got, want) {
+		t.Errorf("AllHeld = %+v", got)
+	}
+	if got := samples.AllHeld(""); len(got) > 0 {
+		t.Errorf("AllHeld of nothing = %+v", got)
+	}
+}
+
+func TestWrittenKeys(t *testing.T) {
+	want := []api.Key{{Name: "bb", Version: "1:2-3"}, {Name: "aa", Version: "1=2"}, {Name: "cc"}}
+	if got := samples.Keys("bb=1:2-3  aa=1=2 cc"); !reflect.DeepEqual(got, want) {
+		t.Errorf("Keys = %+v", got)
+	}
+	if got := samples.Keys(""); len(got) > 0 {
+		t.Errorf("Keys of nothing = %+v", got)
+	}
+}
+
 // What no test should write is told at once.
 func TestWrittenWrong(t *testing.T) {
 	for text, read := range map[string]func(text string){

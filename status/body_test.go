@@ -41,7 +41,7 @@ func someCommit() api.Commit {
 
 func someState() api.State {
 	return api.State{Seq: 258, Group: 3, Held: heldOf("aa 1 depends=bb|cc(>=2) files=x auto; cc 2 provides=dd essential"), Before: heldOf("aa 0 files=x; bb 7"), Past: []api.Entry{
-		{Seq: 257, Group: 3, Out: keysOf("aa=0 bb=7"), In: keysOf("aa=1")}, {Seq: 258, Group: 3, In: keysOf("cc=2")},
+		{Seq: 257, Group: 3, Out: samples.Keys("aa=0 bb=7"), In: samples.Keys("aa=1")}, {Seq: 258, Group: 3, In: samples.Keys("cc=2")},
 	}}
 }
 
@@ -49,7 +49,7 @@ func someState() api.State {
 func bodies() []string {
 	return []string{
 		stateBytes(api.State{}), commitBytes(api.Commit{Seq: 1, Group: 1}), stateBytes(someState()), commitBytes(someCommit()),
-		commitBytes(commitOf(2, 2, "aa", "aa 1", "")), stateBytes(api.State{Seq: 2, Group: 1, Held: heldOf("aa 1"), Past: []api.Entry{{Seq: 2, Group: 1, In: keysOf("aa=1")}}}),
+		commitBytes(commitOf(2, 2, "aa", "aa 1", "")), stateBytes(api.State{Seq: 2, Group: 1, Held: heldOf("aa 1"), Past: []api.Entry{{Seq: 2, Group: 1, In: samples.Keys("aa=1")}}}),
 	}
 }
 

@@ -72,7 +72,7 @@ func fullState() api.State {
 	full, other := samples.Full("aa", "1"), samples.Full("bb", "1")
 	other.Files = []api.File{{Path: "b/d"}}
 	held := []api.Held{{Package: full, Mark: api.MarkAuto}, {Package: other}}
-	return api.State{Seq: 8, Group: 7, Held: held, Before: held[:1], Past: []api.Entry{{Seq: 7, Group: 7, Out: keysOf("cc=1"), In: keysOf("bb=1")}, {Seq: 8, Group: 7, Out: keysOf("dd=1"), In: keysOf("aa=1")}}}
+	return api.State{Seq: 8, Group: 7, Held: held, Before: held[:1], Past: []api.Entry{{Seq: 7, Group: 7, Out: samples.Keys("cc=1"), In: samples.Keys("bb=1")}, {Seq: 8, Group: 7, Out: samples.Keys("dd=1"), In: samples.Keys("aa=1")}}}
 }
 
 // fullCommits fit it: in a change of their own, in the one that is going on.

@@ -30,16 +30,6 @@ func heldOf(text string) []api.Held {
 	return list
 }
 
-// keysOf reads keys as `aa=1 bb=2`.
-func keysOf(text string) []api.Key {
-	var list []api.Key
-	for _, word := range strings.Fields(text) {
-		name, version, _ := strings.Cut(word, "=")
-		list = append(list, api.Key{Name: name, Version: version})
-	}
-	return list
-}
-
 // commitOf makes a commit: names by words, packages by heldOf.
 func commitOf(seq, group int, out, in, marks string) api.Commit {
 	return api.Commit{Seq: seq, Group: group, Out: strings.Fields(out), In: heldOf(in), Marks: strings.Fields(marks)}

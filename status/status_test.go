@@ -92,7 +92,7 @@ func TestBodies(t *testing.T) {
 		t.Errorf("P16.1: EncodeCommit = %q, %d, want %q", body, e, want)
 	}
 	holdCommit(t, "a commit", c, api.OK)
-	s := api.State{Seq: 5, Group: 4, Held: in[:1], Before: in[1:], Past: []api.Entry{{Seq: 4, Group: 3}, {Seq: 5, Group: 4, Out: keysOf("bb=1:2-3"), In: keysOf("aa=1")}}}
+	s := api.State{Seq: 5, Group: 4, Held: in[:1], Before: in[1:], Past: []api.Entry{{Seq: 4, Group: 3}, {Seq: 5, Group: 4, Out: samples.Keys("bb=1:2-3"), In: samples.Keys("aa=1")}}}
 	want = "\x02" + "\x05\x00\x00\x00\x00\x00\x00\x00" + "\x04\x00\x00\x00\x00\x00\x00\x00" +
 		"\x01\x00\x00\x00" + packageBytes(in[0]) + "\x01\x00\x00\x00" + packageBytes(in[1]) +
 		"\x02\x00\x00\x00" + "\x04\x00\x00\x00\x00\x00\x00\x00" + "\x03\x00\x00\x00\x00\x00\x00\x00" + "\x00\x00\x00\x00" + "\x00\x00\x00\x00" +
@@ -191,10 +191,10 @@ func TestStatePast(t *testing.T) {
 		for i := range n {
 			entry := api.Entry{Seq: 9 - n + 1 + i, Group: 2}
 			if i < len(out) {
-				entry.Out = keysOf(out[i])
+				entry.Out = samples.Keys(out[i])
 			}
 			if i < len(in) {
-				entry.In = keysOf(in[i])
+				entry.In = samples.Keys(in[i])
 			}
 			s.Past = append(s.Past, entry)
 		}
@@ -268,15 +268,15 @@ func TestExamples(t *testing.T) {
 	t.Parallel()
 	aa := heldOf("aa 1")
 	one, e := status.Apply(api.State{}, commitOf(1, 1, "", "aa 1", ""))
-	want := api.State{Seq: 1, Group: 1, Held: aa, Past: []api.Entry{{Seq: 1, Group: 1, In: keysOf("aa=1")}}}
+	want := api.State{Seq: 1, Group: 1, Held: aa, Past: []api.Entry{{Seq: 1, Group: 1, In: samples.Keys("aa=1")}}}
 	if e != api.OK || told(one) != told(want) {
 		t.Fatalf("P16.2: Apply = %q, %d, want %q", told(one), e, told(want))
 	}
 	holdApply(t, "Seq 3", one, commitOf(3, 3, "", "bb 1", ""), api.State{}, api.ErrStaFit)
-	two := api.State{Seq: 2, Group: 2, Held: heldOf("aa 1; bb 1"), Before: aa, Past: append(slices.Clone(want.Past), api.Entry{Seq: 2, Group: 2, In: keysOf("bb=1")})}
+	two := api.State{Seq: 2, Group: 2, Held: heldOf("aa 1; bb 1"), Before: aa, Past: append(slices.Clone(want.Past), api.Entry{Seq: 2, Group: 2, In: samples.Keys("bb=1")})}
 	holdApply(t, "Group 2", one, commitOf(2, 2, "", "bb 1", ""), two, api.OK)
 	same := two
-	same.Group, same.Before, same.Past = 1, nil, append(slices.Clone(want.Past), api.Entry{Seq: 2, Group: 1, In: keysOf("bb=1")})
+	same.Group, same.Before, same.Past = 1, nil, append(slices.Clone(want.Past), api.Entry{Seq: 2, Group: 1, In: samples.Keys("bb=1")})
 	holdApply(t, "Group 1", one, commitOf(2, 1, "", "bb 1", ""), same, api.OK)
 	s, marks := one, ""
 	for seq := 2; seq <= 4; seq++ {
@@ -294,7 +294,7 @@ func TestExamples(t *testing.T) {
 // P16.2: each thing by which a commit does not fit, and which error comes first.
 func TestFits(t *testing.T) {
 	t.Parallel()
-	s := api.State{Seq: 4, Group: 3, Held: heldOf("aa 1 files=x; bb 1 files=y auto"), Before: heldOf("zz 1"), Past: []api.Entry{{Seq: 4, Group: 3, In: keysOf("aa=1")}}}
+	s := api.State{Seq: 4, Group: 3, Held: heldOf("aa 1 files=x; bb 1 files=y auto"), Before: heldOf("zz 1"), Past: []api.Entry{{Seq: 4, Group: 3, In: samples.Keys("aa=1")}}}
 	none, high, last, broken := s, s, s, s
 	none.Group, none.Past = 0, nil
 	high.Group = 2
@@ -335,13 +335,13 @@ func TestFits(t *testing.T) {
 func TestSame(t *testing.T) {
 	t.Parallel()
 	make := func() api.State {
-		return api.State{Seq: 4, Group: 3, Held: heldOf("aa 1 files=x; bb 1"), Before: heldOf("cc 1; dd 1"), Past: []api.Entry{{Seq: 3, Group: 3, Out: keysOf("cc=1")}, {Seq: 4, Group: 3, Out: keysOf("dd=1"), In: keysOf("aa=1 bb=1")}}}
+		return api.State{Seq: 4, Group: 3, Held: heldOf("aa 1 files=x; bb 1"), Before: heldOf("cc 1; dd 1"), Past: []api.Entry{{Seq: 3, Group: 3, Out: samples.Keys("cc=1")}, {Seq: 4, Group: 3, Out: samples.Keys("dd=1"), In: samples.Keys("aa=1 bb=1")}}}
 	}
 	for i, change := range []func(s *api.State){
 		func(s *api.State) { s.Seq++ }, func(s *api.State) { s.Group-- },
 		func(s *api.State) { s.Held = s.Held[:1] }, func(s *api.State) { s.Held[1].Mark = 1 }, func(s *api.State) { s.Held[0].Files[0].Size = 1 }, func(s *api.State) { s.Held[0].Summary = "x" }, func(s *api.State) { slices.Reverse(s.Held) }, func(s *api.State) { s.Held = append(s.Held, s.Held[0]) },
 		func(s *api.State) { s.Before = nil }, func(s *api.State) { s.Before[0].Mark = 1 }, func(s *api.State) { s.Before[1].Version = "1.0" }, func(s *api.State) { s.Held, s.Before = s.Before, s.Held },
-		func(s *api.State) { s.Past = s.Past[1:] }, func(s *api.State) { s.Past[0].Seq = 2 }, func(s *api.State) { s.Past[1].Group = 4 }, func(s *api.State) { s.Past[0].Out[0].Version = "2" }, func(s *api.State) { s.Past[0].Out = nil }, func(s *api.State) { s.Past[1].In = s.Past[1].In[1:] }, func(s *api.State) { s.Past[1].In[0].Name = "ab" }, func(s *api.State) { s.Past[0].In = keysOf("aa=1") },
+		func(s *api.State) { s.Past = s.Past[1:] }, func(s *api.State) { s.Past[0].Seq = 2 }, func(s *api.State) { s.Past[1].Group = 4 }, func(s *api.State) { s.Past[0].Out[0].Version = "2" }, func(s *api.State) { s.Past[0].Out = nil }, func(s *api.State) { s.Past[1].In = s.Past[1].In[1:] }, func(s *api.State) { s.Past[1].In[0].Name = "ab" }, func(s *api.State) { s.Past[0].In = samples.Keys("aa=1") },
 	} {
 		s := make()
 		change(&s)
