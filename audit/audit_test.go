@@ -100,7 +100,7 @@ func TestErrors(t *testing.T) {
 	dead.Fuse(0)
 	dead.Sync()
 	disk := samples.Disk(map[string]string{"t/x": "ha", "t/z": "", "n/9.0": "", "d/status": "odd"}, room)
-	_, archives := allMade("aa 1 x:hi; bb 1 x:hi")
+	_, archives := samples.AllMade("aa 1 x:hi; bb 1 x:hi")
 	wrong := wrongs("missing x aa 1; stray z")
 	for want, lists := range map[api.Errno]map[string][]api.Held{api.OK: states(), api.ErrAudState: noStates()} {
 		for what, held := range lists {

@@ -224,7 +224,7 @@ func (l *life) step(i int) {
 // P21.5: long mixed ways of works, mendings, checkpoints, hands in the store, want of room, crashes and Opens.
 func TestMixedLife(t *testing.T) {
 	t.Parallel()
-	_, archives := allMade("aa 2 x:hi2 z:; bb 1 q:q; cc 1 depends=aa|bb b/c:bc; dd 1 d:dd e:ee f:")
+	_, archives := samples.AllMade("aa 2 x:hi2 z:; bb 1 q:q; cc 1 depends=aa|bb b/c:bc; dd 1 d:dd e:ee f:")
 	for seed := range 4 {
 		t.Run(fmt.Sprint(seed), func(t *testing.T) {
 			t.Parallel()
@@ -283,7 +283,7 @@ func TestMixed(t *testing.T) {
 			for _, b := range blobs {
 				text += fmt.Sprintf(" %s:%s", b.Name, b.Data)
 			}
-			m, a := made(text)
+			m, a := samples.Made(text)
 			m.Depends, m.PreDepends, m.Conflicts = h.Depends, h.PreDepends, h.Conflicts // of those that have some it is not the archive
 			held[j] = m
 			if r.IntN(5) > 0 {

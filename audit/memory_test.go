@@ -20,7 +20,7 @@ type given struct {
 
 // sample makes what has an answer to each call, in lists with room beyond their ends.
 func sample() given {
-	held, archives := allMade("aa 1 auto essential depends=bb|zz provides=mail conflicts=yy x:hi y:hi; bb 2 pre=aa q:hi w:; cc 1 d:d")
+	held, archives := samples.AllMade("aa 1 auto essential depends=bb|zz provides=mail conflicts=yy x:hi y:hi; bb 2 pre=aa q:hi w:; cc 1 d:d")
 	held[1].Files[0], held[1].Files[1] = held[1].Files[1], held[1].Files[0] // so that Check has something to put in order
 	s := samples.Disk(map[string]string{"t/x": "ha", "t/q": "q", "t/z": "", "t/d": "d", "n/9.0": "", "d/other": ""}, room)
 	wrong := wrongs("missing d cc 1; stray z; missing y aa 1; sum x aa 1; odd x; sum x")
@@ -169,7 +169,7 @@ func TestNilAndEmpty(t *testing.T) {
 			t.Errorf("P21.3: Owner = %v, %v", k, ok)
 		}
 	}
-	h, a := made("aa 1 x:")
+	h, a := samples.Made("aa 1 x:")
 	h.Files = samples.Roomy(h.Files, api.File{Path: "beyond"})
 	h.Depends, h.Provides = []api.Clause{}, []string{}
 	w, left := holdPlan(t, "empty lists", []api.Held{h}, wrongs("size x"), []api.Blob{a})

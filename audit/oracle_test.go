@@ -26,25 +26,6 @@ const room = 1 << 20
 // told tells things as text; nil and empty are one.
 func told(things ...any) string { return fmt.Sprintf("%+v", things) }
 
-// made reads an installed package as samples.Held does, and makes its archive, which has its name and `.deb`.
-func made(text string) (api.Held, api.Blob) {
-	h := samples.Held(text)
-	data := samples.Must(archive.Build(h.Package, samples.Blobs(text)))
-	h.Archive, h.Size, h.Sum = h.Name+".deb", len(data), sha256.Sum256(data)
-	return h, api.Blob{Name: h.Archive, Data: data}
-}
-
-// allMade does the same with several, `; ` between them.
-func allMade(text string) ([]api.Held, []api.Blob) {
-	var held []api.Held
-	var archives []api.Blob
-	for _, part := range samples.Parts(text) {
-		h, a := made(part)
-		held, archives = append(held, h), append(archives, a)
-	}
-	return held, archives
-}
-
 // kinds are what the tests call the kinds of what is wrong; `odd` is none.
 var kinds = []string{"odd", "missing", "size", "sum", "stray", "staged", "other"}
 
@@ -210,7 +191,7 @@ func sameWork(a, b api.Work) bool {
 func install(text string) (*store.Store, *exec.Exec, []api.Blob) {
 	s := samples.Must(store.New(room))
 	x := samples.Must(exec.Open(s))
-	held, archives := allMade(text)
+	held, archives := samples.AllMade(text)
 	for i, part := range samples.Parts(text) {
 		samples.Must(0, x.Run(api.Work{In: held[i : i+1], Files: samples.Blobs(part)}))
 	}

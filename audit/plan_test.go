@@ -21,7 +21,7 @@ type scene struct {
 
 // sceneOf reads packages as allMade does.
 func sceneOf(text string) scene {
-	held, archives := allMade(text)
+	held, archives := samples.AllMade(text)
 	s := scene{held, map[string]api.Blob{}}
 	for i, h := range held {
 		s.archives[h.Name] = archives[i]
@@ -179,7 +179,7 @@ func TestPlanOfOtherArchives(t *testing.T) {
 			h.Size, h.Sum = len(a.Data), sha256.Sum256(a.Data)
 		}, false},
 	} {
-		h, a := made("aa 1 x:hi y:ho")
+		h, a := samples.Made("aa 1 x:hi y:ho")
 		c.change(&h, &a)
 		wrong := wrongs("sum x aa 1; stray s")
 		w, left := holdPlan(t, c.what, []api.Held{h}, wrong, []api.Blob{a})
@@ -196,7 +196,7 @@ func TestPlanOfOtherArchives(t *testing.T) {
 // P21.2: two packages of which the archives have one name: the first that has it is looked at for both.
 func TestPlanOfOneName(t *testing.T) {
 	t.Parallel()
-	held, archives := allMade("aa 1 x:hi; bb 1 y:ho")
+	held, archives := samples.AllMade("aa 1 x:hi; bb 1 y:ho")
 	for i := range held {
 		held[i].Archive, archives[i].Name = "one", "one"
 	}
