@@ -120,6 +120,7 @@ func TestMarks(t *testing.T) {
 		{"one that is held", "aa 1 auto", "install aa; hold aa", "aa=1/0", 1},
 		{"one that is asked for twice", "aa 1 auto", "install aa; install aa(=1)", "aa=1/0", 1},
 		{"marks are not taken away", "aa 1; bb 1", "install bb", "aa=1/0 bb=1/0", 0},
+		{"a removal marks none of those who provide a name", "cc 1 provides=mail auto; mail 1", "remove mail", "cc=1/1", 1},
 		{"a removal marks nothing", "aa 1 auto; bb 1 auto", "remove bb", "aa=1/1", 1},
 	} {
 		p, _ := among(t, c.held)

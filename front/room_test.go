@@ -82,7 +82,10 @@ func TestRemovalsWithoutRoom(t *testing.T) {
 	if e := p.mark(t, "aa", api.MarkAuto); e != api.ErrExeFull {
 		t.Errorf("P23.9: Mark without any room = %d", e)
 	}
-	p.both(func(d *store.Store) { d.Write("t/x", []byte("h")) })
+	p.both(func(d *store.Store) {
+		d.Write("t/x", []byte("h"))
+		d.Write("t/stray", nil)
+	})
 	left, e := p.repair(t, s.archives)
 	if left != nil || e != api.ErrExeFull {
 		t.Errorf("P23.10: Repair without any room = %v, %d", left, e)
@@ -147,7 +150,12 @@ func TestFrames(t *testing.T) {
 			t.Errorf("P23.5: %s behind them leaves %d, want %d", what, p.frames(), want)
 		}
 	}
-	p := grown(66)
+	p := grown(64)
+	three := stocked("dd 1 depends=ee; ee 1 depends=ff; ff 1")
+	if carried(t, p.apply(t, three.index, asks("install dd"), three.archives)); p.frames() != 67 {
+		t.Errorf("P23.5: three works behind 64 frames leave %d", p.frames())
+	}
+	p = grown(66)
 	p.both(func(d *store.Store) { d.Write("t/x", []byte("h")) })
 	if left, e := p.repair(t, all.archives); len(left) > 0 || e != api.OK || p.frames() != 67 {
 		t.Errorf("P23.10: Repair = %v, %d, and leaves %d frames", left, e, p.frames())

@@ -208,7 +208,7 @@ func wrongs(text string) []api.Wrong {
 func TestAsking(t *testing.T) {
 	t.Parallel()
 	p, s := among(t, "aa 1 depends=bb usr/y:ho x:hi; bb 1 z:zz auto; cc 1 auto")
-	names, paths := []string{"aa", "bb", "cc", "zz", ""}, []string{"x", "usr/y", "usr", "z", "q", "", "/x", "x/", "../d/status", "a//b", "n", "odd name", "\x7f"}
+	names, paths := []string{"aa", "bb", "cc", "zz", ""}, []string{"x", "usr/y", "usr", "z", "q", "", "/x", "x/", "../d/status", "a//b", "n", "odd name", "\x7f", "/odd", "x/../z"}
 	p.both(func(d *store.Store) {
 		d.Write("t/q", []byte("somebody's"))
 		d.Write("t//odd", []byte("no path"))
