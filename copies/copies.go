@@ -42,6 +42,11 @@ func entry(e api.Entry) api.Entry {
 	return e
 }
 
+// Blobs tells the same texts.
+func Blobs(blobs []api.Blob) []api.Blob {
+	return each(blobs, func(b api.Blob) api.Blob { return api.Blob{Name: b.Name, Data: slices.Clone(b.Data)} })
+}
+
 // each tells a list of copies, each made by itself.
 func each[T any](list []T, again func(T) T) []T {
 	list = slices.Clone(list)

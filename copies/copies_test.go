@@ -94,3 +94,18 @@ func TestPackages(t *testing.T) {
 		t.Errorf("State of nothing = %v", got)
 	}
 }
+
+func TestBlobs(t *testing.T) {
+	one := []byte("hi")
+	blobs := samples.RoomyBlobs([]api.Blob{{Name: "x", Data: one}, {Name: "y"}})
+	blobs[1].Data = blobs[0].Data
+	want := told(blobs)
+	list := copies.Blobs(blobs)
+	if told(list) != want || !samples.Apart(list, blobs) || !samples.Apart(list[0].Data, list[1].Data, blobs[0].Data) {
+		t.Errorf("Blobs = %v", list)
+	}
+	samples.SpoilBlobs(blobs)
+	if told(list) != want || len(copies.Blobs(nil)) > 0 {
+		t.Errorf("what was copied changes its copies: %v", list)
+	}
+}
